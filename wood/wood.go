@@ -1,4 +1,4 @@
-// Package wood makes trees of files for the tests of the other packages; the program itself does not call it.
+// Package wood makes trees of files and lists of paths for the tests of the other packages; the program itself does not call it.
 package wood
 
 import (
@@ -29,6 +29,18 @@ func Root(files ...api.File) api.File { return Dir("", files...) }
 
 // Path has the names that stand between blanks.
 func Path(s string) api.Path { return strings.Fields(s) }
+
+// Paths has a path of each text; of / the root.
+func Paths(texts ...string) []api.Path {
+	var out []api.Path
+	for _, s := range texts {
+		if s == "/" {
+			s = ""
+		}
+		out = append(out, Path(s))
+	}
+	return out
+}
 
 // Own is a path's own text, however long; the root's is empty.
 func Own(p api.Path) string {
@@ -82,4 +94,36 @@ func Blot(p api.Path) {
 	for i := range p {
 		p[i] = "blot"
 	}
+}
+
+// BlotAll writes over all memory that a list of paths has, spare room too.
+func BlotAll(l []api.Path) {
+	l = l[:cap(l)]
+	for i := range l {
+		Blot(l[i])
+		l[i] = api.Path{"blot"}
+	}
+}
+
+// Roomy is the same paths with spare room, full of marks, in the list and in each of them.
+func Roomy(l []api.Path) []api.Path {
+	var out []api.Path
+	for _, p := range l {
+		out = append(out, append(slices.Clone(p), "mark", "mark")[:len(p)])
+	}
+	return append(out, api.Path{"mark"}, api.Path{"mark"})[:len(l)]
+}
+
+// Untouched tells whether what Roomy made of a list is as it was made, marks and all.
+func Untouched(roomy, l []api.Path) bool {
+	same := func(p, q api.Path) bool { return slices.Equal(p, q) }
+	if !slices.EqualFunc(roomy, l, same) || !slices.EqualFunc(roomy[len(l):len(l)+2], Paths("mark", "mark"), same) {
+		return false
+	}
+	for _, p := range roomy {
+		if !slices.Equal(p[len(p):len(p)+2], Path("mark mark")) {
+			return false
+		}
+	}
+	return true
 }
