@@ -10,6 +10,7 @@ import (
 	"paddock/api"
 	"paddock/sets"
 	"paddock/syntax"
+	"paddock/twigs"
 )
 
 // grammar is an expression's text as the words take it apart: every way to part it is tried, and no way is looked ahead for.
@@ -31,9 +32,7 @@ func trees(s string, ext bool) []api.Node {
 	g := grammar{s, ext, map[[3]int][][]api.Node{}}
 	var out []api.Node
 	for _, n := range g.expression(0, len(s)) {
-		begun := 0
-		n = clone(n)
-		if number(&n, &begun, map[int]bool{}) {
+		if n, ok := twigs.Numbered(n); ok {
 			out = append(out, n)
 		}
 	}

@@ -7,6 +7,7 @@ import (
 	"paddock/api"
 	"paddock/sets"
 	"paddock/syntax"
+	"paddock/twigs"
 )
 
 const (
@@ -202,9 +203,7 @@ func TestInGroup(t *testing.T) {
 			if !ext {
 				wrapped = "\\(" + s + "\\)"
 			}
-			begun := 0
-			want := group(0, clone(n))
-			number(&want, &begun, map[int]bool{})
+			want, _ := twigs.Numbered(group(0, n))
 			got, why, at := syntax.Parse(wrapped, ext)
 			if !same(got, want) || why != api.OK {
 				t.Fatalf("P8.9: %q: %s, %d, %d", wrapped, show(got), why, at)

@@ -175,33 +175,6 @@ func TestRightLimits(t *testing.T) {
 	}
 }
 
-// spoil changes one field of one node by chance.
-func spoil(chance *rand.Rand, n *api.Node) {
-	for len(n.Kids) > 0 && chance.Intn(3) > 0 {
-		n = &n.Kids[chance.Intn(len(n.Kids))]
-	}
-	switch chance.Intn(9) {
-	case 0:
-		n.Kind = api.NodeKind(chance.Intn(int(api.NodeCount) + 1))
-	case 1:
-		n.Set[chance.Intn(4)] ^= 1 << chance.Intn(64)
-	case 2:
-		n.Min += chance.Intn(3) - 1
-	case 3:
-		n.Max += chance.Intn(3) - 1
-	case 4:
-		n.Group += chance.Intn(3) - 1
-	case 5:
-		n.Kids = append(slices.Clone(n.Kids), of("a"))
-	case 6:
-		n.Kids = n.Kids[:max(0, len(n.Kids)-1)]
-	case 7:
-		n.Kids = append([]api.Node{empty}, n.Kids...)
-	case 8:
-		slices.Reverse(n.Kids)
-	}
-}
-
 // P1, P8.2, P8.3, P8.8: grown trees with some changes: Right by the words, and nothing panics; what is right is written and read.
 func TestSpoilt(t *testing.T) {
 	chance := rand.New(rand.NewSource(82))
@@ -209,7 +182,7 @@ func TestSpoilt(t *testing.T) {
 	for _, n := range grown(82, 8000) {
 		n = clone(n)
 		for range 1 + chance.Intn(3) {
-			spoil(chance, &n)
+			spoil(chance.Intn, &n)
 		}
 		right := syntax.Right(n)
 		count[right]++
@@ -263,54 +236,6 @@ func TestFold(t *testing.T) {
 	}
 }
 
-// blot writes over all memory that a tree has, spare room too.
-func blot(n api.Node) {
-	for _, k := range n.Kids {
-		blot(k)
-	}
-	kids := n.Kids[:cap(n.Kids)]
-	for i := range kids {
-		kids[i] = api.Node{Kind: 77}
-	}
-}
-
-// roomy is the same tree with spare room, full of marks, in each list.
-func roomy(n api.Node) api.Node {
-	var kids []api.Node
-	for _, k := range n.Kids {
-		kids = append(kids, roomy(k))
-	}
-	n.Kids = append(slices.Clip(kids), api.Node{Kind: 66}, api.Node{Kind: 66})[:len(kids)]
-	return n
-}
-
-func untouched(n api.Node) bool {
-	for _, k := range n.Kids {
-		if !untouched(k) {
-			return false
-		}
-	}
-	spare := n.Kids[len(n.Kids) : len(n.Kids)+2]
-	return spare[0].Kind == 66 && spare[1].Kind == 66
-}
-
-// lists has each list of a tree, by the address of its memory: no two of them may have any in common.
-func lists(n api.Node, seen map[*api.Node]bool) bool {
-	all := n.Kids[:cap(n.Kids)]
-	for i := range all {
-		if seen[&all[i]] {
-			return false
-		}
-		seen[&all[i]] = true
-	}
-	for _, k := range n.Kids {
-		if !lists(k, seen) {
-			return false
-		}
-	}
-	return true
-}
-
 // P8.5: answers share nothing with what was handed in, with one another, or within themselves.
 func TestNewMemory(t *testing.T) {
 	for _, n := range grown(85, 1500) {
@@ -321,7 +246,7 @@ func TestNewMemory(t *testing.T) {
 		if !same(given, n) || !untouched(given) || !right {
 			t.Fatalf("%s was changed", show(n))
 		}
-		if !lists(f, map[*api.Node]bool{}) {
+		if !apart(f) {
 			t.Fatalf("Fold(%s) shares memory within", show(n))
 		}
 		blot(given)
@@ -333,7 +258,7 @@ func TestNewMemory(t *testing.T) {
 		}
 		one, _, _ := syntax.Parse(s, extended)
 		other, _, _ := syntax.Parse(s, extended)
-		if !lists(one, map[*api.Node]bool{}) {
+		if !apart(one) {
 			t.Fatalf("Parse(%q) shares memory within", s)
 		}
 		blot(one)

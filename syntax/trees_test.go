@@ -1,101 +1,23 @@
 package syntax_test
 
 import (
-	"fmt"
 	"math/rand"
-	"strings"
 
 	"paddock/api"
-	"paddock/sets"
+	"paddock/twigs"
 )
 
 // Trees for tests, by short names.
 var (
-	empty = api.Node{Kind: api.NodeEmpty}
-	begin = api.Node{Kind: api.NodeBegin}
-	end   = api.Node{Kind: api.NodeEnd}
+	empty, begin, end              = twigs.Leaf(api.NodeEmpty), twigs.Leaf(api.NodeBegin), twigs.Leaf(api.NodeEnd)
+	in, of, any, each              = twigs.In, twigs.Of, twigs.Any, twigs.Each
+	cat, alt, group, back, repeat  = twigs.Cat, twigs.Alt, twigs.Group, twigs.Back, twigs.Repeat
+	same, clone, nest, show, spoil = twigs.Same, twigs.Clone, twigs.Nest, twigs.Show, twigs.Spoil
+	blot, roomy, untouched, apart  = twigs.Blot, twigs.Roomy, twigs.Untouched, twigs.Apart
 )
-
-func in(s api.Set) api.Node         { return api.Node{Kind: api.NodeSet, Set: s} }
-func of(bytes string) api.Node      { return in(sets.Of([]byte(bytes))) }
-func cat(kids ...api.Node) api.Node { return api.Node{Kind: api.NodeCat, Kids: kids} }
-func alt(kids ...api.Node) api.Node { return api.Node{Kind: api.NodeAlt, Kids: kids} }
-func group(number int, k api.Node) api.Node {
-	return wrap(api.Node{Kind: api.NodeGroup, Group: number}, k)
-}
-func back(number int) api.Node { return api.Node{Kind: api.NodeBack, Group: number} }
-
-func repeat(least, most int, k api.Node) api.Node {
-	return wrap(api.Node{Kind: api.NodeRepeat, Min: least, Max: most}, k)
-}
-
-func wrap(n, kid api.Node) api.Node {
-	n.Kids = []api.Node{kid}
-	return n
-}
-
-func any() api.Node { return in(sets.Not(api.Set{})) }
-
-// each is a tree of each byte of a text, one behind another.
-func each(s string) api.Node {
-	var kids []api.Node
-	for i := range len(s) {
-		kids = append(kids, of(s[i:i+1]))
-	}
-	return cat(kids...)
-}
-
-// same tells whether all fields are the same; nil and empty lists are alike.
-func same(a, b api.Node) bool {
-	if a.Kind != b.Kind || a.Set != b.Set || a.Min != b.Min || a.Max != b.Max || a.Group != b.Group || len(a.Kids) != len(b.Kids) {
-		return false
-	}
-	for i := range a.Kids {
-		if !same(a.Kids[i], b.Kids[i]) {
-			return false
-		}
-	}
-	return true
-}
 
 // isZero tells whether a tree is the one that stands beside an error.
 func isZero(n api.Node) bool { return same(n, api.Node{}) }
-
-// clone shares no memory with a tree.
-func clone(n api.Node) api.Node {
-	var kids []api.Node
-	for _, k := range n.Kids {
-		kids = append(kids, clone(k))
-	}
-	n.Kids = kids
-	return n
-}
-
-// nest is a tree of a kind, so deep.
-func nest(deep int, inner api.Node, over func(i int, n api.Node) api.Node) api.Node {
-	for i := deep; i > 0; i-- {
-		inner = over(i, inner)
-	}
-	return inner
-}
-
-// number gives the groups of a tree their numbers from left to right, behind those that there are, and tells whether each back-reference names one that has ended.
-func number(n *api.Node, begun *int, ended map[int]bool) bool {
-	if n.Kind == api.NodeBack && !ended[n.Group] {
-		return false
-	}
-	if n.Kind == api.NodeGroup {
-		*begun++
-		n.Group = *begun
-		defer func() { ended[n.Group] = true }()
-	}
-	for i := range n.Kids {
-		if !number(&n.Kids[i], begun, ended) {
-			return false
-		}
-	}
-	return true
-}
 
 // grower makes right trees by chance.
 type grower struct {
@@ -191,13 +113,4 @@ func grown(seed int64, many int) []api.Node {
 		out = append(out, g.expression(i%17))
 	}
 	return out
-}
-
-// show tells a tree for a message.
-func show(n api.Node) string {
-	var kids []string
-	for _, k := range n.Kids {
-		kids = append(kids, show(k))
-	}
-	return fmt.Sprintf("%d:%q:%d:%d:%d(%s)", n.Kind, sets.Print(n.Set), n.Min, n.Max, n.Group, strings.Join(kids, " "))
 }
