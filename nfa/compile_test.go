@@ -116,7 +116,7 @@ func TestLimits(t *testing.T) {
 // P10.2: each kind, each field, and the limits, at them and one past them.
 func TestRight(t *testing.T) {
 	match := api.Inst{Kind: instMatch}
-	kinds := []api.Inst{{Kind: instSet, Set: api.Set{1, 2, 3, 4}}, {Kind: instSet}, {Kind: instSplit, To: 2}, {Kind: api.InstJump}, {Kind: api.InstOpen, Group: 2}, {Kind: api.InstClose, Group: 1}, {Kind: api.InstClear, Group: 1, Last: 2}, {Kind: api.InstMark, Slot: 1}, {Kind: api.InstMoved}, {Kind: api.InstBack, Group: 2}, {Kind: api.InstBegin}, {Kind: api.InstEnd}}
+	kinds := []api.Inst{{Kind: instSet, Set: api.Set{1, 2, 3, 4}}, {Kind: instSet}, {Kind: instSplit, To: 2}, {Kind: api.InstJump}, {Kind: api.InstOpen, Group: 2}, {Kind: api.InstClose, Group: 1}, {Kind: api.InstClear, Group: 1, Last: 2}, {Kind: api.InstClear, Group: 2, Last: 2}, {Kind: api.InstMark, Slot: 1}, {Kind: api.InstMoved}, {Kind: api.InstBack, Group: 2}, {Kind: api.InstBegin}, {Kind: api.InstEnd}}
 	changes := []func(x *api.Inst, by int){
 		func(x *api.Inst, by int) { x.Set[by&3]++ }, func(x *api.Inst, by int) { x.To += by }, func(x *api.Inst, by int) { x.Group += by }, func(x *api.Inst, by int) { x.Last += by }, func(x *api.Inst, by int) { x.Slot += by }, func(x *api.Inst, by int) { x.Kind += api.InstKind(by) },
 	}

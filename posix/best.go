@@ -38,7 +38,7 @@ func (t *trial) bestOfCat(p *part, s api.Span, out []api.Span) {
 	}
 	at := s.From
 	for i, k := range p.kids {
-		to := t.furthest(k, api.Span{From: at, To: s.To}, at, wanted[i])
+		to := t.furthest(k, api.Span{From: at, To: s.To}, wanted[i])
 		t.best(k, api.Span{From: at, To: to}, out)
 		at = to
 	}
@@ -49,11 +49,7 @@ func (t *trial) bestOfRounds(p *part, s api.Span, out []api.Span) {
 	wanted := t.boundaries(p, s)
 	at, last := s.From, none()
 	for n := 0; n < p.least || at < s.To; n++ {
-		least := at
-		if n >= p.least {
-			least = at + 1
-		}
-		to := t.furthest(p.kids[0], api.Span{From: at, To: s.To}, least, wanted[p.count(n+1)])
+		to := t.furthest(p.kids[0], api.Span{From: at, To: s.To}, wanted[p.count(n+1)])
 		at, last = to, api.Span{From: at, To: to}
 	}
 	if last != none() {
@@ -79,14 +75,14 @@ func (t *trial) boundaries(p *part, s api.Span) [][]int {
 	return out
 }
 
-// furthest is the furthest place within a span, from a least one on, to which a part leads and which is wanted.
-func (t *trial) furthest(p *part, s api.Span, least int, wanted []int) int {
+// furthest is the furthest place within a span to which a part leads from its beginning, and which is wanted: there is one; and where the end is not reached yet, one further on.
+func (t *trial) furthest(p *part, s api.Span, wanted []int) int {
 	for _, to := range slices.Backward(t.reach(sweep{false, s.To}, p, []int{s.From})) {
-		if to >= least && contains(wanted, to) {
+		if contains(wanted, to) {
 			return to
 		}
 	}
-	return s.To // it never comes to this: there is one
+	return s.To
 }
 
 func contains(places []int, at int) bool {

@@ -8,23 +8,22 @@ type turn struct {
 	end
 }
 
-// stage is what tells turns apart: how many are done, up to a number from which on fewer are only better, and the spot.
+// stage is what tells turns apart: of two at the same one whatever comes behind is the same.
 type stage struct {
 	done int
 	spot
 }
 
-// course goes through the turns of a part's ways, those of the better ways first: so it comes to each by its best way. A turn at which it has been with no more done goes on to nothing new, and is passed over.
+// course goes through the turns of a part's ways, those of the better ways first: so it comes to each stage by the best way, and passes over it from then on.
 type course struct {
 	now   turn
-	alike int
 	ahead int // how many were left when now was taken
 	left  []turn
-	met   map[stage]int
+	met   map[stage]struct{}
 }
 
-func newCourse(from spot, alike int) *course {
-	return &course{alike: alike, left: []turn{{end: end{spot: from}}}, met: map[stage]int{}}
+func newCourse(from spot) *course {
+	return &course{left: []turn{{end: end{spot: from}}}, met: map[stage]struct{}{}}
 }
 
 // goOn goes on from now to a turn: the better ones are to be told first.
@@ -37,19 +36,11 @@ func (c *course) next() bool {
 		c.ahead = len(c.left) - 1
 		c.now = c.left[c.ahead]
 		c.left = c.left[:c.ahead]
-		if c.isNew() {
+		at := stage{c.now.done, c.now.spot}
+		if _, again := c.met[at]; !again {
+			c.met[at] = struct{}{}
 			return true
 		}
 	}
 	return false
-}
-
-func (c *course) isNew() bool {
-	at := stage{min(c.now.done, c.alike), c.now.spot}
-	done, met := c.met[at]
-	if met && done <= c.now.done {
-		return false
-	}
-	c.met[at] = c.now.done
-	return true
 }

@@ -113,7 +113,7 @@ func (t *trial) tryAlt(p *part, from spot, behind func(end)) {
 }
 
 func (t *trial) tryCat(p *part, from spot, behind func(end)) {
-	c := newCourse(from, len(p.kids))
+	c := newCourse(from)
 	on := func(e end) {
 		e.kept = joined(c.now.kept, e.kept)
 		c.goOn(c.now.done+1, e)
@@ -129,7 +129,7 @@ func (t *trial) tryCat(p *part, from spot, behind func(end)) {
 
 // tryRepeat keeps what its last round keeps: the groups within have none again ahead of each.
 func (t *trial) tryRepeat(p *part, from spot, behind func(end)) {
-	c := newCourse(from, p.least)
+	c := newCourse(from)
 	isFree := func() bool { return c.now.done >= p.least }
 	on := func(e end) {
 		if !isFree() || e.at > c.now.at {
