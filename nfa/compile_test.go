@@ -169,7 +169,7 @@ func TestNewMemory(t *testing.T) {
 		}
 		mark := api.Inst{Kind: 77}
 		roomy := api.Prog{Groups: p.Groups, Slots: p.Slots, Code: append(slices.Clone(p.Code), mark, mark)[:len(p.Code)]}
-		s := byChance(chance, "ab", 8)
+		s := text(chance.Intn, "ab", 8)
 		l, _ := nfa.Ends(roomy, s, 0)
 		nfa.Whole(roomy, s, api.Span{From: 0, To: len(s)})
 		nfa.Match(roomy, s, 0)

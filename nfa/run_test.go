@@ -74,8 +74,8 @@ func checkRuns(t *testing.T, p api.Prog, s string) {
 func TestByWords(t *testing.T) {
 	chance := rand.New(rand.NewSource(103))
 	for i := range 6000 {
-		checkRuns(t, programOf(grow(chance.Intn, 2+i%16, false)), byChance(chance, "ab", 8))
-		checkRuns(t, anyProgram(chance, i%15), byChance(chance, "ab", 8))
+		checkRuns(t, programOf(grow(chance.Intn, 2+i%16, false)), text(chance.Intn, "ab", 8))
+		checkRuns(t, anyProgram(chance, i%15), text(chance.Intn, "ab", 8))
 	}
 }
 
@@ -89,7 +89,7 @@ func TestAsMeant(t *testing.T) {
 		if why != api.OK {
 			t.Fatal(show(n), why)
 		}
-		s := byChance(chance, "abx", 14)
+		s := text(chance.Intn, "abx", 14)
 		for from := range len(s) + 1 {
 			l, want, _ := posix.Match(n, s, from, false)
 			m, ok, why := nfa.Match(p, s, from)
@@ -119,7 +119,7 @@ func TestParts(t *testing.T) {
 		b, _ := numbered(grow(chance.Intn, 1+i%7, false))
 		row, _ := numbered(cat(a, b))
 		either, _ := numbered(alt(a, b))
-		s := byChance(chance, "ab", 10)
+		s := text(chance.Intn, "ab", 10)
 		from := chance.Intn(len(s) + 1)
 		first, second := endsFrom(t, a, s, from), endsFrom(t, b, s, from)
 		var behind []int

@@ -15,7 +15,8 @@ var (
 	empty, begin, end             = twigs.Leaf(api.NodeEmpty), twigs.Leaf(api.NodeBegin), twigs.Leaf(api.NodeEnd)
 	of, each, cat, alt            = twigs.Of, twigs.Each, twigs.Cat, twigs.Alt
 	group, back, repeat, nest     = twigs.Group, twigs.Back, twigs.Repeat, twigs.Nest
-	show, grow, numbered          = twigs.Show, twigs.Grow, twigs.Numbered
+	show, grow, text, numbered    = twigs.Show, twigs.Grow, twigs.Text, twigs.Numbered
+	groupsOf                      = twigs.Groups
 	instSet, instMatch, instSplit = api.InstSet, api.InstMatch, api.InstSplit
 )
 
@@ -91,17 +92,6 @@ func optional(n api.Node, free, times int) []api.Inst {
 	}
 	r, rest := freeRound(n, free), optional(n, free, times-1)
 	return slices.Concat([]api.Inst{{Kind: api.InstSplit, To: 1 + len(r) + len(rest)}}, r, rest)
-}
-
-func groupsOf(n api.Node) []int {
-	var out []int
-	if n.Kind == api.NodeGroup {
-		out = append(out, n.Group)
-	}
-	for _, k := range n.Kids {
-		out = append(out, groupsOf(k)...)
-	}
-	return out
 }
 
 // programOf is the program of an expression.
@@ -205,15 +195,6 @@ func matchOf(p api.Prog, s string, from int) (api.Span, bool) {
 		}
 	}
 	return api.Span{}, false
-}
-
-// byChance is a text of up to so many bytes.
-func byChance(chance *rand.Rand, letters string, most int) string {
-	var out []byte
-	for range chance.Intn(most + 1) {
-		out = append(out, letters[chance.Intn(len(letters))])
-	}
-	return string(out)
 }
 
 // anyProgram is a right one without back-references, made by chance: it goes to and fro as no expression's does.

@@ -38,7 +38,7 @@ func TestLeftmostLongest(t *testing.T) {
 	for i := range 6000 {
 		backs := i%3 == 0
 		n := twigs.Grow(chance.Intn, 3+i%16, backs)
-		s := byChance(chance, "ab", 12)
+		s := text(chance.Intn, "ab", 12)
 		from := chance.Intn(len(s) + 1)
 		l, ok, why := posix.Match(n, s, from, false)
 		first := api.Span{From: len(s) + 1}
@@ -133,7 +133,7 @@ func TestNewMemory(t *testing.T) {
 	chance := rand.New(rand.NewSource(95))
 	for i := range 1500 {
 		n := twigs.Grow(chance.Intn, 2+i%14, true)
-		s := byChance(chance, "ab", 8)
+		s := text(chance.Intn, "ab", 8)
 		given := twigs.Roomy(n)
 		c := posix.Copy(given)
 		l, ok, _ := posix.Match(given, s, 0, i%2 == 0)

@@ -95,15 +95,6 @@ func TestSmall(t *testing.T) {
 	}
 }
 
-// byChance is a text of up to so many bytes.
-func byChance(chance *rand.Rand, letters string, most int) string {
-	var out []byte
-	for range chance.Intn(most + 1) {
-		out = append(out, letters[chance.Intn(len(letters))])
-	}
-	return string(out)
-}
-
 // 9.2, 9.3, 9.6: grown expressions, with anchors, many groups and back-references; with more rounds than can be laid out, too.
 func TestGrown(t *testing.T) {
 	for part := range 8 {
@@ -117,7 +108,7 @@ func TestGrown(t *testing.T) {
 					n = beside(n)
 				}
 				for range 3 {
-					if checkByWords(t, n, byChance(chance, "abAB"[:2+i%3], 5), i%5 == 0) {
+					if checkByWords(t, n, text(chance.Intn, "abAB"[:2+i%3], 5), i%5 == 0) {
 						told++
 					}
 				}
@@ -156,7 +147,7 @@ func TestAll(t *testing.T) {
 	chance := rand.New(rand.NewSource(94))
 	for i := range 6000 {
 		n := twigs.Grow(chance.Intn, 2+i%12, i%4 == 0)
-		s := byChance(chance, "abA", 9)
+		s := text(chance.Intn, "abA", 9)
 		fold := i%2 == 0
 		got, why := posix.All(n, s, fold)
 		if want := allByWords(n, s, fold); why != api.OK || !slices.Equal(got, want) {

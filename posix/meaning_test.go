@@ -22,18 +22,6 @@ func nothing(n api.Node) []api.Span {
 	return slices.Repeat([]api.Span{none}, 1+len(groupsOf(n)))
 }
 
-// groupsOf are the numbers of the groups of a tree.
-func groupsOf(n api.Node) []int {
-	var out []int
-	if n.Kind == api.NodeGroup {
-		out = append(out, n.Group)
-	}
-	for _, k := range n.Kids {
-		out = append(out, groupsOf(k)...)
-	}
-	return out
-}
-
 // letter is a byte as it is compared.
 func letter(c byte, fold bool) byte {
 	if fold && c >= 'A' && c <= 'Z' {

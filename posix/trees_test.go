@@ -14,6 +14,7 @@ var (
 	of, in, each                  = twigs.Of, twigs.In, twigs.Each
 	cat, alt, group, back, repeat = twigs.Cat, twigs.Alt, twigs.Group, twigs.Back, twigs.Repeat
 	same, clone, nest, show       = twigs.Same, twigs.Clone, twigs.Nest, twigs.Show
+	groupsOf, text                = twigs.Groups, twigs.Text
 )
 
 // ere is the tree of an extended expression.

@@ -151,6 +151,15 @@ func settle(n *api.Node, chance func(int) int, begun *int, ended []int) []int {
 	return ended
 }
 
+// Text is one of some letters, of so many bytes at most.
+func Text(chance func(int) int, letters string, most int) string {
+	var out []byte
+	for range chance(most + 1) {
+		out = append(out, letters[chance(len(letters))])
+	}
+	return string(out)
+}
+
 // Spoil changes one field of one node, by a function that tells numbers below one by chance.
 func Spoil(chance func(int) int, n *api.Node) {
 	for len(n.Kids) > 0 && chance(3) > 0 {

@@ -81,13 +81,16 @@ func Clone(n api.Node) api.Node {
 	return n
 }
 
-// Size is how many nodes a tree has.
-func Size(n api.Node) int {
-	size := 1
-	for _, k := range n.Kids {
-		size += Size(k)
+// Groups are the numbers of the groups of a tree, in order.
+func Groups(n api.Node) []int {
+	var out []int
+	if n.Kind == api.NodeGroup {
+		out = append(out, n.Group)
 	}
-	return size
+	for _, k := range n.Kids {
+		out = append(out, Groups(k)...)
+	}
+	return out
 }
 
 // Show tells a tree for a message.
