@@ -169,3 +169,36 @@ func TestNewMemory(t *testing.T) {
 		}
 	}
 }
+
+// named is an expression that matches just what another one does, and has back-references to its groups that never come.
+func named(n api.Node) api.Node {
+	backs := []api.Node{empty, empty}
+	for _, g := range groupsOf(n) {
+		if g <= 9 {
+			backs = append(backs, back(g))
+		}
+	}
+	return cat(n, repeat(0, 0, cat(backs...)))
+}
+
+// 9.3: what never comes makes no difference, over longer texts too: neither back-references nor rounds that are too many.
+func TestThreeWays(t *testing.T) {
+	for part := range 4 {
+		t.Run("", func(t *testing.T) {
+			t.Parallel()
+			chance := rand.New(rand.NewSource(int64(9300 + part)))
+			for i := range 2500 {
+				n := twigs.Grow(chance.Intn, 4+i%24, i%4 == 0)
+				s := text(chance.Intn, "abA", 4+i%40)
+				from := chance.Intn(len(s) + 1)
+				want, ok, why := posix.Match(n, s, from, i%3 == 0)
+				for _, other := range []api.Node{beside(n), named(n), named(beside(n))} {
+					l, found, no := posix.Match(other, s, from, i%3 == 0)
+					if why != api.OK || no != api.OK || ok != found || !slices.Equal(l, want) {
+						t.Fatalf("Match(%s, %q, %d) = %v, but %v of %s", show(n), s, from, want, l, show(other))
+					}
+				}
+			}
+		})
+	}
+}
