@@ -77,13 +77,6 @@ func TestCompile(t *testing.T) {
 	}
 }
 
-// sized is an expression whose program has so many instructions, all of them but one in rounds.
-func sized(size int) api.Node {
-	rounds := (size - 1) / 255
-	kids := slices.Repeat([]api.Node{of("a")}, size-1-255*rounds)
-	return cat(append(kids, empty, repeat(255, 255, cat(append(slices.Repeat([]api.Node{of("b")}, rounds), empty, empty)...)))...)
-}
-
 // P10.1: MaxProg at it, and one past it; which error comes first.
 func TestLimits(t *testing.T) {
 	checkProgram(t, sized(api.MaxProg-1))

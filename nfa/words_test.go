@@ -3,32 +3,20 @@ package nfa_test
 import (
 	"math/rand"
 	"slices"
-	"testing"
 
 	"paddock/api"
-	"paddock/syntax"
 	"paddock/twigs"
 )
 
 // Trees for tests, by short names.
 var (
 	empty, begin, end             = twigs.Leaf(api.NodeEmpty), twigs.Leaf(api.NodeBegin), twigs.Leaf(api.NodeEnd)
-	of, each, cat, alt            = twigs.Of, twigs.Each, twigs.Cat, twigs.Alt
+	of, each, cat, alt, ere       = twigs.Of, twigs.Each, twigs.Cat, twigs.Alt, twigs.ERE
 	group, back, repeat, nest     = twigs.Group, twigs.Back, twigs.Repeat, twigs.Nest
 	show, grow, text, numbered    = twigs.Show, twigs.Grow, twigs.Text, twigs.Numbered
-	groupsOf                      = twigs.Groups
+	groupsOf, sized               = twigs.Groups, twigs.Sized
 	instSet, instMatch, instSplit = api.InstSet, api.InstMatch, api.InstSplit
 )
-
-// ere is the tree of an extended expression.
-func ere(t *testing.T, s string) api.Node {
-	t.Helper()
-	n, why, at := syntax.Parse(s, true)
-	if why != api.OK {
-		t.Fatalf("%q: error %d at %d", s, why, at)
-	}
-	return n
-}
 
 // The words of the chapter, read off one by one.
 

@@ -40,19 +40,6 @@ func TestExamples(t *testing.T) {
 	}
 }
 
-// texts are all of up to so many letters.
-func texts(letters string, most int) []string {
-	out := []string{""}
-	for i := 0; i < len(out); i++ {
-		if len(out[i]) < most {
-			for _, c := range letters {
-				out = append(out, out[i]+string(c))
-			}
-		}
-	}
-	return out
-}
-
 // checkByWords holds Match and Whole against the words, from each place; false: it could not be told.
 func checkByWords(t *testing.T, n api.Node, s string, fold bool) bool {
 	t.Helper()

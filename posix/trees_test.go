@@ -1,31 +1,18 @@
 package posix_test
 
 import (
-	"testing"
-
 	"paddock/api"
-	"paddock/syntax"
 	"paddock/twigs"
 )
 
 // Trees for tests, by short names.
 var (
 	empty, begin, end             = twigs.Leaf(api.NodeEmpty), twigs.Leaf(api.NodeBegin), twigs.Leaf(api.NodeEnd)
-	of, in, each                  = twigs.Of, twigs.In, twigs.Each
+	of, in, each, ere             = twigs.Of, twigs.In, twigs.Each, twigs.ERE
 	cat, alt, group, back, repeat = twigs.Cat, twigs.Alt, twigs.Group, twigs.Back, twigs.Repeat
 	same, clone, nest, show       = twigs.Same, twigs.Clone, twigs.Nest, twigs.Show
-	groupsOf, text                = twigs.Groups, twigs.Text
+	groupsOf, text, texts         = twigs.Groups, twigs.Text, twigs.Texts
 )
-
-// ere is the tree of an extended expression.
-func ere(t *testing.T, s string) api.Node {
-	t.Helper()
-	n, why, at := syntax.Parse(s, true)
-	if why != api.OK {
-		t.Fatalf("%q: error %d at %d", s, why, at)
-	}
-	return n
-}
 
 // huge has rounds within rounds, more than could ever be gone through.
 func huge() api.Node {

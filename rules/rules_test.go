@@ -62,8 +62,8 @@ var calls = map[string]string{
 	"tidy":    "program reach",
 	"farm":    "lines paths trees policy sandbox",
 	"front":   "lines paths trees policy script pretty program reach audit sandbox args debug tidy farm",
-	"wood":    "", // no layer: it makes trees of files for tests
-	"twigs":   "", // no layer: it makes trees of expressions for tests
+	"wood":    "",       // no layer: it makes trees of files for tests
+	"twigs":   "syntax", // no layer: it makes trees of expressions for tests
 }
 
 // source is a file of the program, read.
