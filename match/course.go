@@ -12,7 +12,7 @@ const (
 	upper = (1<<26 - 1) << ('A' % wordBits)
 )
 
-// course is a program over a text. If case does not matter, the text is all in lower case, and each set has both cases: so nobody behind it has to ask.
+// course is a program over a text. If case does not matter, the text is all in lower case, and each set has the letters in lower case that it has in either: so nobody behind it has to ask.
 type course struct {
 	code []api.Inst
 	text string
@@ -25,7 +25,7 @@ func newCourse(code []api.Inst, s string, fold bool) course {
 	}
 	for i := range code {
 		w := &code[i].Set[letters]
-		*w |= *w&upper<<above | *w>>above&upper
+		*w |= *w & upper << above
 	}
 	text := []byte(s)
 	for i, c := range text {

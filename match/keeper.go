@@ -13,16 +13,16 @@ type keeper struct {
 	next  []int
 }
 
-// situation is one of a place; kept is the number of a note.
-type situation struct{ inst, kept int }
+// situation is one of a place; kept is the number of a list of cells.
+type situation struct{ inst, kept uint32 }
 
-// A group that is named has three cells: where it was opened, and where the span that it has kept begins and ends. Each slot has one.
+// A group that is named has cells for where the span that it has kept begins and ends, and where it was opened; and one that is left empty, so that all of them stand in one row. Each slot has a cell.
 const (
 	noCell     = -1
-	opened     = 0
-	keptFrom   = 1
-	keptTo     = 2
-	groupCells = 3
+	keptFrom   = 0
+	keptTo     = 1
+	opened     = 2
+	groupCells = 4
 )
 
 func newKeeper(n api.Node, p api.Prog, c course) *keeper {
@@ -59,10 +59,10 @@ func (k *keeper) stepsFrom(begin, most int) (int, bool) {
 			last := len(k.left) - 1
 			x := k.left[last]
 			k.left = k.left[:last]
-			if _, again := met[x]; again {
+			count := len(met)
+			if met[x] = (struct{}{}); len(met) == count {
 				continue
 			}
-			met[x] = struct{}{}
 			if steps++; steps > most {
 				return steps, false
 			}
@@ -75,25 +75,27 @@ func (k *keeper) stepsFrom(begin, most int) (int, bool) {
 
 // goOn leaves to be gone through what a situation goes on to.
 func (k *keeper) goOn(x situation, at int) {
-	switch i := &k.code[x.inst]; i.Kind {
+	i := &k.code[x.inst]
+	behind := situation{x.inst + 1, x.kept}
+	switch i.Kind {
 	case api.InstMatch:
 	case api.InstSet:
-		if k.takes(x.inst, at) {
-			k.leave(situation{x.inst + 1, x.kept}, at, at+1)
+		if k.takes(int(x.inst), at) {
+			k.leave(behind, at, at+1)
 		}
 	case api.InstBack:
 		if to, ok := k.again(x.kept, k.cells[i.Group], at); ok {
-			k.leave(situation{x.inst + 1, x.kept}, at, to)
+			k.leave(behind, at, to)
 		}
 	case api.InstMoved:
 		if k.get(x.kept, k.slots+i.Slot) != at {
-			k.leave(situation{x.inst + 1, x.kept}, at, at)
+			k.leave(behind, at, at)
 		}
 	default:
-		k.next = k.behind(k.next[:0], x.inst, at)
 		kept := k.keep(i, x.kept, at)
+		k.next = k.behind(k.next[:0], int(x.inst), at)
 		for _, inst := range k.next {
-			k.leave(situation{inst, kept}, at, at)
+			k.leave(situation{uint32(inst), kept}, at, at)
 		}
 	}
 }
@@ -108,7 +110,7 @@ func (k *keeper) leave(x situation, at, to int) {
 }
 
 // again tells where the bytes that a group has kept end, if they stand at a place.
-func (k *keeper) again(kept, cell, at int) (int, bool) {
+func (k *keeper) again(kept uint32, cell, at int) (int, bool) {
 	from, to := k.get(kept, cell+keptFrom), k.get(kept, cell+keptTo)
 	end := at + to - from
 	if from == none || end > len(k.text) || k.text[from:to] != k.text[at:end] {
@@ -118,7 +120,7 @@ func (k *keeper) again(kept, cell, at int) (int, bool) {
 }
 
 // keep is what is kept behind an instruction at a place.
-func (k *keeper) keep(i *api.Inst, kept, at int) int {
+func (k *keeper) keep(i *api.Inst, kept uint32, at int) uint32 {
 	switch i.Kind {
 	case api.InstMark:
 		return k.put(kept, k.slots+i.Slot, at)
@@ -128,13 +130,12 @@ func (k *keeper) keep(i *api.Inst, kept, at int) int {
 		}
 	case api.InstClose:
 		if cell := k.cells[i.Group]; cell != noCell {
-			kept = k.put(kept, cell+keptFrom, k.get(kept, cell+opened))
-			return k.put(kept, cell+keptTo, at)
+			return k.put(kept, cell+keptFrom, k.get(kept, cell+opened), at)
 		}
 	case api.InstClear:
 		for _, cell := range k.cells[i.Group : i.Last+1] {
-			for j := 0; cell != noCell && j < groupCells; j++ {
-				kept = k.put(kept, cell+j, none)
+			if cell != noCell {
+				kept = k.put(kept, cell, none, none, none)
 			}
 		}
 	}

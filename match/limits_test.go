@@ -139,26 +139,25 @@ func TestEndsThere(t *testing.T) {
 // P1, 11.1: long texts. What an expression without back-references comes to again from the next place is known from the one ahead.
 func TestLong(t *testing.T) {
 	as := func(n int) string { return strings.Repeat("a", n) }
-	least := func(n, most int) int { // of a{200}b: one step more than there are a, up to so many
-		all := 0
-		for i := range n + 1 {
-			all += min(i, most) + 1
-		}
-		return all
+	rounds := cat(repeat(3, 3, repeat(200, 200, of("a"))), of("b")) // from each place a step more than there are a, up to 600
+	stepsOfRounds := 601 * (60000 - 600)
+	for i := range 601 {
+		stepsOfRounds += i + 1
 	}
-	for _, c := range []struct {
-		e, s string
+	for i, c := range []struct {
+		n    api.Node
+		s    string
 		want int
 	}{
 		// from each place four steps, and six at each one further on
-		{"a*b", as(37000), 37001 * (4 + 3*37000)}, {"a*b", as(1000), 1001 * (4 + 3*1000)},
-		{"a{200}b", as(60000), least(60000, 200)}, {"b", as(1 << 20), 1<<20 + 1}, {"a*", as(1 << 20), 4 + 6<<20}, {"^b", as(1 << 20), 1<<20 + 2},
-		{"(.)\\1", strings.Repeat("ab", 1<<15), (1<<16-1)*4 + 4 + 2},
+		{ere(t, "a*b"), as(37000), 37001 * (4 + 3*37000)}, {ere(t, "a*b"), as(1000), 1001 * (4 + 3*1000)},
+		{rounds, as(60000), stepsOfRounds}, {of("b"), as(1 << 20), 1<<20 + 1}, {ere(t, "a*"), as(1 << 20), 4 + 6<<20}, {ere(t, "^b"), as(1 << 20), 1<<20 + 2},
+		{ere(t, "(.)\\1"), strings.Repeat("ab", 1<<15), (1<<16-1)*4 + 4 + 2},
 		// from each place seven steps there and at each one further on; and at each second one that of b behind what stands twice
-		{"(a*)\\1b", as(300), 7*301*(1+150) + 150*150},
+		{ere(t, "(a*)\\1b"), as(300), 7*301*(1+150) + 150*150},
 	} {
-		if k, why := match.Steps(ere(t, c.e), c.s, 0, false, api.MaxQuota); why != api.OK || k != c.want {
-			t.Errorf("%s over %d bytes: %d steps, error %d; not %d", c.e, len(c.s), k, why, c.want)
+		if k, why := match.Steps(c.n, c.s, 0, false, api.MaxQuota); why != api.OK || k != c.want {
+			t.Errorf("%d: over %d bytes: %d steps, error %d; not %d", i, len(c.s), k, why, c.want)
 		}
 	}
 	for _, c := range []struct{ e, s string }{{"a*b", as(38000)}, {"(a|aa)*b", as(1 << 19)}, {"(a*)*(a*)*(a*)*b", as(1 << 16)}} {

@@ -1,66 +1,69 @@
 package match
 
-// none is a cell without a place.
-const none = -1
+const (
+	// none is a cell without a place.
+	none = -1
+	// rowBits is how many bits of a cell's number tell where it stands in a row.
+	rowBits = 3
+	rowSize = 1 << rowBits
+)
 
-// notes are lists of cells, all of one length, each with a place or none. A list is a tree of pairs: the halves of the list, the halves of these, and so on, down to the cells. Each pair that there is has a number, so lists are the same just if their numbers are, and one that differs from another in a cell shares all but the pairs above that cell with it.
+// notes are lists of cells, all of one length, each with a place or none. A list is a tree of rows, down to those that have the cells themselves. Each row that there is has a number, so lists are the same just if their numbers are, and one that differs from another in a cell shares all but the rows above that cell with it.
 type notes struct {
-	half    int // of a list's length
-	pairs   []pair
-	numbers map[pair]int
+	deep    int // how many bits of a cell's number tell the row that it stands in
+	rows    []row
+	numbers map[row]uint32
 }
 
-// pair is two halves: numbers of pairs, or what stands in two cells.
-type pair struct{ left, right int }
+// row is numbers of rows, or what stands in some cells: the number behind a place, so that 0 is none.
+type row [rowSize]uint32
 
 func newNotes(cells int) notes {
-	n := notes{half: 1}
-	for 2*n.half < cells {
-		n.half *= 2
+	n := notes{}
+	for rowSize<<n.deep < cells {
+		n.deep += rowBits
 	}
 	return n
 }
 
-// forget leaves only the list without any place: it has the number 0, as each of its halves has. So cells tell a place by the number behind it.
+// forget leaves only the list without any place: it has the number 0, as all of its rows have.
 func (n *notes) forget() {
-	n.pairs = append(n.pairs[:0], pair{})
-	n.numbers = map[pair]int{{}: 0}
+	n.rows = append(n.rows[:0], row{})
+	n.numbers = map[row]uint32{{}: 0}
 }
 
 // get is what stands in a cell.
-func (n *notes) get(list, cell int) int {
-	for half := n.half; half > 0; half /= 2 {
-		if cell&half == 0 {
-			list = n.pairs[list].left
-		} else {
-			list = n.pairs[list].right
+func (n *notes) get(list uint32, cell int) int {
+	for bits := n.deep; bits >= 0; bits -= rowBits {
+		list = n.rows[list][cell>>bits%rowSize]
+	}
+	return int(list) - 1
+}
+
+// put is a list with other places in a cell and in those behind it, which stand in the same row.
+func (n *notes) put(list uint32, cell int, places ...int) uint32 {
+	return n.putBelow(list, cell, n.deep, places)
+}
+
+func (n *notes) putBelow(list uint32, cell, bits int, places []int) uint32 {
+	r := n.rows[list]
+	in := cell >> bits % rowSize
+	if bits > 0 {
+		r[in] = n.putBelow(r[in], cell, bits-rowBits, places)
+	} else {
+		for i, p := range places {
+			r[in+i] = uint32(p + 1)
 		}
 	}
-	return list - 1
+	return n.number(r)
 }
 
-// put is a list with something else in a cell.
-func (n *notes) put(list, cell, place int) int { return n.putBelow(list, cell, place, n.half) }
-
-func (n *notes) putBelow(list, cell, place, half int) int {
-	if half == 0 {
-		return place + 1
-	}
-	p := n.pairs[list]
-	if cell&half == 0 {
-		p.left = n.putBelow(p.left, cell, place, half/2)
-	} else {
-		p.right = n.putBelow(p.right, cell, place, half/2)
-	}
-	return n.number(p)
-}
-
-func (n *notes) number(p pair) int {
-	i, ok := n.numbers[p]
+func (n *notes) number(r row) uint32 {
+	i, ok := n.numbers[r]
 	if !ok {
-		i = len(n.pairs)
-		n.pairs = append(n.pairs, p)
-		n.numbers[p] = i
+		i = uint32(len(n.rows))
+		n.rows = append(n.rows, r)
+		n.numbers[r] = i
 	}
 	return i
 }
