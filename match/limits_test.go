@@ -151,7 +151,7 @@ func TestLong(t *testing.T) {
 	}{
 		// from each place four steps, and six at each one further on
 		{ere(t, "a*b"), as(37000), 37001 * (4 + 3*37000)}, {ere(t, "a*b"), as(1000), 1001 * (4 + 3*1000)},
-		{rounds, as(60000), stepsOfRounds}, {of("b"), as(1 << 20), 1<<20 + 1}, {ere(t, "a*"), as(1 << 20), 4 + 6<<20}, {ere(t, "^b"), as(1 << 20), 1<<20 + 2},
+		{rounds, as(60000), stepsOfRounds}, {of("b"), as(1 << 20), 1<<20 + 1}, {ere(t, "a*"), as(1 << 20), 4 + 6<<20}, {ere(t, "^b"), as(1 << 20), 1<<20 + 2}, {ere(t, "^a*b"), as(5 << 20), 5 + 7*(5<<20)},
 		{ere(t, "(.)\\1"), strings.Repeat("ab", 1<<15), (1<<16-1)*4 + 4 + 2},
 		// from each place seven steps there and at each one further on; and at each second one that of b behind what stands twice
 		{ere(t, "(a*)\\1b"), as(300), 7*301*(1+150) + 150*150},

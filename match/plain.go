@@ -13,6 +13,8 @@ const (
 	room = 1 << 24
 	// spotRoom is about what one of them takes beside its text.
 	spotRoom = 64
+	// mostPassed is how many of one way are kept at most.
+	mostPassed = room / spotRoom
 )
 
 // plain counts the steps of an expression without back-references: a situation is an instruction and a place. At each place all of its situations are gone through together.
@@ -47,7 +49,7 @@ func (p *plain) stepsFrom(begin, most int) (int, bool) {
 	var way []passed
 	p.now = append(p.now[:0], 0)
 	for at := begin; len(p.now) > 0 && steps <= most; at++ {
-		if at%stride == 0 {
+		if at%stride == 0 && len(way) < mostPassed {
 			here := spot{p.stands(), at}
 			if ahead, ok := p.known[here]; ok {
 				steps += ahead
