@@ -44,8 +44,8 @@ var calls = map[string]string{
 	"nfa":     "posix",
 	"match":   "posix nfa",
 	"deriv":   "posix nfa",
-	"script":  "syntax posix nfa",
-	"pretty":  "script",
+	"script":  "syntax posix nfa pairs",
+	"pretty":  "script pairs",
 	"program": "script",
 	"reach":   "program",
 	"subst":   "posix sets",
@@ -62,6 +62,7 @@ var calls = map[string]string{
 	"tidy":    "program reach",
 	"farm":    "lines paths trees policy sandbox",
 	"front":   "lines paths trees policy script pretty program reach audit sandbox args debug tidy farm",
+	"pairs":   "",       // no layer: it goes through the pairs of a text for script and pretty
 	"wood":    "",       // no layer: it makes trees of files for tests
 	"twigs":   "syntax", // no layer: it makes trees of expressions for tests
 }
