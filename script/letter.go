@@ -106,7 +106,7 @@ func (r *reader) lines(c *api.Command) {
 		r.pass(blanks)
 		if r.next("\n") {
 			r.at++
-		} else {
+		} else if !r.over() {
 			r.at = begin // blanks that no LF follows are the text's own
 		}
 	}
