@@ -109,18 +109,23 @@ func Roomy(s api.Script) api.Script {
 // Untouched tells whether the spare room of what Roomy made is as it was made.
 func Untouched(s api.Script) bool {
 	for i := range s.Commands {
-		c := &s.Commands[i]
-		for _, x := range regexes(c) {
-			if !twigs.Untouched(x.Root) {
-				return false
-			}
-		}
-		if l := c.Subst.Pieces; l[:len(l)+1][len(l)] != (api.Piece{N: room}) {
+		if !CommandUntouched(&s.Commands[i]) {
 			return false
 		}
 	}
 	l := s.Commands
 	return ShowCommand(l[:len(l)+1][len(l)]) == ShowCommand(api.Command{N: room})
+}
+
+// CommandUntouched tells it of the lists of a command alone.
+func CommandUntouched(c *api.Command) bool {
+	for _, x := range regexes(c) {
+		if !twigs.Untouched(x.Root) {
+			return false
+		}
+	}
+	l := c.Subst.Pieces
+	return l[:len(l)+1][len(l)] == api.Piece{N: room}
 }
 
 // Blot writes over all memory that a script has, spare room too.
