@@ -50,8 +50,8 @@ var calls = map[string]string{
 	"reach":   "program",
 	"subst":   "posix sets",
 	"space":   "",
-	"spec":    "lines posix program subst match space",
-	"engine":  "lines posix program subst match space spec",
+	"spec":    "lines posix program subst match space cycles",
+	"engine":  "lines posix program subst match space spec cycles",
 	"input":   "lines",
 	"output":  "paths gate",
 	"inplace": "paths gate",
@@ -62,11 +62,12 @@ var calls = map[string]string{
 	"tidy":    "program reach",
 	"farm":    "lines paths trees policy sandbox",
 	"front":   "lines paths trees policy script pretty program reach audit sandbox args debug tidy farm",
-	"pairs":   "",                    // no layer: it goes through the pairs of a text for script and pretty
-	"wood":    "",                    // no layer: it makes trees of files for tests
-	"twigs":   "syntax",              // no layer: it makes trees of expressions for tests
-	"reeds":   "script twigs",        // no layer: it makes scripts for tests
-	"rushes":  "program reeds twigs", // no layer: it makes programs for tests
+	"pairs":   "",                                      // no layer: it goes through the pairs of a text for script and pretty
+	"cycles":  "lines posix program subst match space", // no layer: it runs programs for spec and engine
+	"wood":    "",                                      // no layer: it makes trees of files for tests
+	"twigs":   "syntax",                                // no layer: it makes trees of expressions for tests
+	"reeds":   "script twigs",                          // no layer: it makes scripts for tests
+	"rushes":  "program reeds twigs",                   // no layer: it makes programs for tests
 }
 
 // source is a file of the program, read.

@@ -12,14 +12,14 @@ type voice struct {
 	text   string
 	spans  []api.Span // those of the match that is spoken of
 	byKind [api.PieceCount]func(*voice, api.Piece) string
-	cases  [lettersCount]table
+	cases  *[lettersCount]table // nil till a letter is turned: most replacements turn none
 	held   letters
 	next   letters // of the next byte alone, if it is not to be as it is
 	out    strings.Builder
 }
 
 func newVoice(l []api.Piece, s string) *voice {
-	return &voice{pieces: l, text: s, byKind: sayers(), cases: cases()}
+	return &voice{pieces: l, text: s, byKind: sayers()}
 }
 
 // sayers has for each kind what a piece says, as it stands there; of a turn nothing, but it holds from then on.
@@ -84,9 +84,18 @@ func (v *voice) say(m []api.Span) {
 	})
 }
 
+// turns is what each byte is turned into by a turn of case.
+func (v *voice) turns(l letters) *table {
+	if v.cases == nil {
+		made := cases()
+		v.cases = &made
+	}
+	return &v.cases[l]
+}
+
 func (v *voice) write(s string) {
 	if s != "" && v.next != asTheyAre {
-		v.out.WriteByte(v.cases[v.next][s[0]])
+		v.out.WriteByte(v.turns(v.next)[s[0]])
 		v.next = asTheyAre
 		s = s[1:]
 	}
@@ -94,8 +103,9 @@ func (v *voice) write(s string) {
 		v.out.WriteString(s)
 		return
 	}
+	t := v.turns(v.held)
 	for i := range len(s) {
-		v.out.WriteByte(v.cases[v.held][s[i]])
+		v.out.WriteByte(t[s[i]])
 	}
 }
 
