@@ -18,6 +18,17 @@ func Inputs(texts ...string) api.World {
 	return w
 }
 
+// Source is the inputs of a world, asked for one by one.
+type Source []api.Text
+
+// Input is that of this number.
+func (l Source) Input(k int) (string, api.Errno) {
+	if l[k].Gone {
+		return "", api.ErrNoFile
+	}
+	return l[k].Data, api.OK
+}
+
 // Clone shares no list with a world.
 func Clone(w api.World) api.World {
 	return api.World{Inputs: slices.Clone(w.Inputs), Others: slices.Clone(w.Others)}
