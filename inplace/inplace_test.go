@@ -1,7 +1,6 @@
 package inplace_test
 
 import (
-	"maps"
 	"slices"
 	"strconv"
 	"strings"
@@ -55,22 +54,10 @@ func want(t *testing.T, what string, why, no api.Errno) {
 	}
 }
 
-// texts tells the texts of a tree, by their paths.
-func texts(tree api.File) string {
-	var out []string
-	table := wood.Table(tree)
-	for _, at := range slices.Sorted(maps.Keys(table)) {
-		if table[at].Kind == api.FileText {
-			out = append(out, at+"="+strconv.Quote(table[at].Data))
-		}
-	}
-	return strings.Join(out, " ")
-}
-
 // holds holds the texts of the file system, and the calls without Lstats.
 func (b bench) holds(t *testing.T, files, calls string) {
 	t.Helper()
-	if got := texts(b.files.Tree()); got != files {
+	if got := wood.Texts(b.files.Tree()); got != files {
 		t.Errorf("the files are %s, not %s", got, files)
 	}
 	if got := b.calls(); got != calls {
@@ -205,10 +192,10 @@ func TestNewAsks(t *testing.T) {
 		b := laid(t, c.tree, nil, wood.Paths("a"), c.faults...)
 		e, why := inplace.New(b.gate, c.path, "x", ".old", 9)
 		if (e != nil) != (why == api.OK) || why != c.why || b.calls() != c.calls {
-			t.Errorf("New(%q) of %s: %d; %s", c.path, texts(c.tree), why, b.calls())
+			t.Errorf("New(%q) of %s: %d; %s", c.path, wood.Texts(c.tree), why, b.calls())
 		}
 		if table := wood.Table(b.files.Tree()); table["/a/b"].Data != "x" || why == api.OK && table[c.path+".paddock~"] != (wood.Thing{Kind: api.FileText}) {
-			t.Errorf("New(%q) of %s leaves %s", c.path, texts(c.tree), texts(b.files.Tree()))
+			t.Errorf("New(%q) of %s leaves %s", c.path, wood.Texts(c.tree), wood.Texts(b.files.Tree()))
 		}
 	}
 }
@@ -247,7 +234,7 @@ func TestLongPaths(t *testing.T) {
 		if e != nil {
 			want(t, "Put", e.Put("y"), api.OK)
 			want(t, "Close", e.Close(), api.OK)
-			if got := texts(b.files.Tree()); got != path+`="y"` {
+			if got := wood.Texts(b.files.Tree()); got != path+`="y"` {
 				t.Error(got)
 			}
 		}
@@ -302,7 +289,7 @@ func TestAllBytes(t *testing.T) {
 	}
 	want(t, "Close", e.Close(), api.OK)
 	if table := wood.Table(b.files.Tree()); table["/a/b"].Data != all || table["/a/b~"].Data != all || e.Written() != 256 {
-		t.Error(texts(b.files.Tree()))
+		t.Error(wood.Texts(b.files.Tree()))
 	}
 }
 
@@ -331,7 +318,7 @@ func TestPutFails(t *testing.T) {
 			want(t, name+": then call "+strconv.Itoa(i), why, api.ErrDone)
 		}
 		if e.Written() != 1 || b.calls() != calls || wood.Table(b.files.Tree())["/a/b"].Data != "x" {
-			t.Errorf("%s: %d written; %s; %s", name, e.Written(), b.calls(), texts(b.files.Tree()))
+			t.Errorf("%s: %d written; %s; %s", name, e.Written(), b.calls(), wood.Texts(b.files.Tree()))
 		}
 	}
 }
@@ -403,7 +390,7 @@ func TestCloseDenied(t *testing.T) {
 		}
 		table := wood.Table(b.files.Tree())
 		if _, there := table["/a/b.paddock~"]; table["/a/b"].Data != file || there != left || table["/s"].Data != "secret" {
-			t.Errorf("%q: %s", c.suffix, texts(b.files.Tree()))
+			t.Errorf("%q: %s", c.suffix, wood.Texts(b.files.Tree()))
 		}
 	}
 }
@@ -426,7 +413,7 @@ func TestTwoEdits(t *testing.T) {
 	for i, why := range []api.Errno{e.Put("1"), f.Put("2"), e.Put("3"), f.Put("45"), e.Close(), f.Close()} {
 		want(t, "call "+strconv.Itoa(i), why, api.OK)
 	}
-	if got := texts(b.files.Tree()); got != `/a/b="13" /a/b~="x" /a/c="245"` || e.Written() != 2 || f.Written() != 3 {
+	if got := wood.Texts(b.files.Tree()); got != `/a/b="13" /a/b~="x" /a/c="245"` || e.Written() != 2 || f.Written() != 3 {
 		t.Error(got, e.Written(), f.Written())
 	}
 }

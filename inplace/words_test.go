@@ -153,7 +153,7 @@ func (p pair) holds(t *testing.T, what string, why, no api.Errno) {
 		t.Fatalf("%s: %d, %d bytes, not %d, %d bytes", what, why, p.e.Written(), no, written)
 	}
 	if !reflect.DeepEqual(p.b.gate.Log(), p.c.gate.Log()) || !trees.Same(p.b.files.Tree(), p.c.files.Tree()) {
-		t.Fatalf("%s: %s, %s, not %s, %s", what, p.b.calls(), texts(p.b.files.Tree()), p.c.calls(), texts(p.c.files.Tree()))
+		t.Fatalf("%s: %s, %s, not %s, %s", what, p.b.calls(), wood.Texts(p.b.files.Tree()), p.c.calls(), wood.Texts(p.c.files.Tree()))
 	}
 }
 

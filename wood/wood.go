@@ -4,6 +4,7 @@ package wood
 import (
 	"maps"
 	"slices"
+	"strconv"
 	"strings"
 
 	"paddock/api"
@@ -67,6 +68,18 @@ func Table(t api.File) map[string]Thing {
 		}
 	}
 	return out
+}
+
+// Texts tells the texts of a tree, by their paths.
+func Texts(t api.File) string {
+	var out []string
+	table := Table(t)
+	for _, at := range slices.Sorted(maps.Keys(table)) {
+		if table[at].Kind == api.FileText {
+			out = append(out, at+"="+strconv.Quote(table[at].Data))
+		}
+	}
+	return strings.Join(out, " ")
 }
 
 // SameTable tells whether two tables have the same.
