@@ -20,9 +20,10 @@ const (
 	codeFailed = 5
 )
 
-// Bounds are what a run ends at: so many steps, and a quota.
+// Bounds are what a run ends at: so many steps, and a quota; and a step ahead of which Stands, if there is one, says so: it is told how many steps are behind, and which one is next.
 type Bounds struct {
-	Steps int
+	Steps  int
+	Stands func(done, next int) bool
 	api.Quota
 }
 

@@ -8,7 +8,7 @@ import (
 
 // spendStep is asked ahead of each step that is looked at.
 func (r *Run) spendStep() {
-	if r.steps == r.Steps {
+	if r.steps == r.Steps || r.Stands != nil && r.Stands(r.steps, r.next) {
 		giveUp(api.StopLimit, 0, api.OK)
 	}
 	if r.cost == r.Fuel {
