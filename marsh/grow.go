@@ -17,6 +17,11 @@ const (
 
 // Script is the text of a script of some commands, by a function that tells numbers below one by chance.
 func Script(chance func(int) int, commands int) string {
+	return Mixed(chance, commands, 8, addresses, letters)
+}
+
+// Mixed is one of addresses and letters with what these take, each with a | between, an @ in them being an LF; one of so many commands begins a block.
+func Mixed(chance func(int) int, commands, blocks int, addresses, letters string) string {
 	pick := func(all string) string {
 		l := strings.Split(all, "|")
 		return strings.ReplaceAll(l[chance(len(l))], "@", "\n")
@@ -42,7 +47,7 @@ func Script(chance func(int) int, commands int) string {
 			nest--
 		}
 		address, not := pick(addresses), pick("||||!")
-		if chance(8) == 0 {
+		if chance(blocks) == 0 {
 			out = append(out, address+not+"{")
 			nest++
 			continue

@@ -43,6 +43,44 @@ func TestFronts(t *testing.T) {
 	}
 }
 
+// Until stands where it is told to, and where At stands, if it is not; it asks ahead of each step, once.
+func TestUntil(t *testing.T) {
+	chance := rand.New(rand.NewSource(199)).Intn
+	stood := 0
+	for range 1500 {
+		p, o, w := grown(t, chance)
+		course := marsh.Read(p, o, w, 40)
+		most := course.Steps()
+		steps, sooner := chance(most+1), chance(most+1)
+		var asked []int
+		m, why := spec.Until(p, o, w, steps, func(done, next int) bool {
+			if done != len(asked) {
+				t.Fatalf("%s\nasked at %d behind %v", rushes.Show(p), done, asked)
+			}
+			asked = append(asked, next)
+			return done == sooner
+		})
+		want := course.At(min(steps, sooner))
+		if why != api.OK || marsh.ShowMoment(m) != marsh.ShowMoment(want) {
+			t.Fatalf("%s\nof %d steps, or %d: error %d, %s, not %s", rushes.Show(p), steps, sooner, why, marsh.ShowMoment(m), marsh.ShowMoment(want))
+		}
+		for done, next := range asked {
+			if at := course.At(done); at.Next != next || at.Over {
+				t.Fatalf("%s\nasked of step %d behind %d, not of %d", rushes.Show(p), next, done, at.Next)
+			}
+		}
+		if m.Done < steps && !m.Over {
+			stood++
+		}
+		if m, why := spec.Until(p, o, w, -1, func(int, int) bool { return true }); why != api.ErrRange || marsh.ShowMoment(m) != marsh.ShowMoment(api.Moment{}) {
+			t.Fatal("less than no step: error", why)
+		}
+	}
+	if stood < 200 {
+		t.Error("only a few stood sooner:", stood)
+	}
+}
+
 // 19.5: the empty program prints the input as it is; one that is quiet nothing.
 func TestEmptyProgram(t *testing.T) {
 	chance := rand.New(rand.NewSource(195)).Intn
