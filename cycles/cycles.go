@@ -56,14 +56,15 @@ type Run struct {
 	input  int                // how many fresh lines were taken
 	read   map[string]reading
 
-	next              int // the step that is looked at
+	how               onward // from where it stands
+	next              int    // the step that is looked at
 	steps, cost, peak int
 	end               ending
 }
 
 // New is a run of a right program up to its end, or to the first of its bounds, of which Memory is one of a space. Each effect that is done is handed to keep.
 func New(p api.Program, o api.Options, w World, b Bounds, keep func(api.Effect)) *Run {
-	r := &Run{Bounds: b, world: w, list: p.Steps, quiet: o.Quiet || p.Quiet, inPlace: o.InPlace, keep: keep}
+	r := &Run{Bounds: b, world: w, list: p.Steps, quiet: o.Quiet || p.Quiet, inPlace: o.InPlace, keep: keep, how: printed}
 	r.space, _ = space.New(b.Memory)
 	r.lacks, r.put = map[place]struct{}{}, map[target]int{}
 	byLetter := commands()
@@ -74,11 +75,17 @@ func New(p api.Program, o api.Options, w World, b Bounds, keep func(api.Effect))
 	return r
 }
 
-// Go runs it: what it means but for its effects, and the world's error that ended it.
+// Go runs it: what it means but for its effects, and the world's error that ended it. A run that stands at a bound of its steps is gone on with, if that is another one now.
 func (r *Run) Go() (api.Meaning, api.Errno) {
+	if r.end.stop == api.StopLimit {
+		r.end = ending{}
+	}
 	r.end = r.all()
 	return api.Meaning{Code: r.end.code, Steps: r.steps, Cost: r.cost, Peak: r.peak, Stop: r.end.stop}, r.end.why
 }
+
+// Done is how many steps it has gone.
+func (r *Run) Done() int { return r.steps }
 
 // Moment is where it stands when it has run.
 func (r *Run) Moment() api.Moment {
@@ -130,26 +137,40 @@ func asEnding(caught any) (ending, bool) {
 	return e, ok
 }
 
-// all goes through all cycles.
+// all goes through all cycles that are left.
 func (r *Run) all() (end ending) {
 	defer func() {
 		if e, given := asEnding(recover()); given {
 			end = e
+			if e.stop != api.StopLimit {
+				r.how = over
+			}
 		}
 	}()
-	for how := printed; how != quitting && how != over; {
-		if how != again && !r.take(r.space.Set) {
+	for r.how != quitting && r.how != over {
+		// Where a cycle has begun, the run stood ahead of one of its steps.
+		if r.how != further && !r.begin() {
+			r.how = over
 			break
 		}
-		how = r.cycle()
-		r.finish(how)
+		r.how = r.cycle()
+		r.finish(r.how)
 	}
 	return r.end
 }
 
+// begin begins a cycle; false: there is no line for it.
+func (r *Run) begin() bool {
+	if r.how != again && !r.take(r.space.Set) {
+		return false
+	}
+	r.how, r.next = further, 0
+	return true
+}
+
 // cycle goes through the steps, up to what says otherwise.
 func (r *Run) cycle() onward {
-	for r.next = 0; r.next < len(r.list); {
+	for r.next < len(r.list) {
 		r.spendStep()
 		switch how := r.step(&r.list[r.next].Command); how {
 		case further:

@@ -43,41 +43,79 @@ func TestFronts(t *testing.T) {
 	}
 }
 
-// Until stands where it is told to, and where At stands, if it is not; it asks ahead of each step, once.
-func TestUntil(t *testing.T) {
+// A walk stands where it is told to, and where At stands, if it is not; it asks ahead of each step, and of the one at which it stood again. In however many parts it is gone, it is the same.
+func TestWalk(t *testing.T) {
 	chance := rand.New(rand.NewSource(199)).Intn
-	stood := 0
+	stood, over := 0, 0
 	for range 1500 {
 		p, o, w := grown(t, chance)
 		course := marsh.Read(p, o, w, 40)
 		most := course.Steps()
-		steps, sooner := chance(most+1), chance(most+1)
-		var asked []int
-		m, why := spec.Until(p, o, w, steps, func(done, next int) bool {
-			if done != len(asked) {
-				t.Fatalf("%s\nasked at %d behind %v", rushes.Show(p), done, asked)
+		x, why := spec.Begin(p, o, w)
+		if why != api.OK || x.Done() != 0 {
+			t.Fatal("Begin: error", why)
+		}
+		rushes.Blot(p)
+		marsh.Blot(w)
+		for at := 0; ; {
+			steps := at + chance(most+1-at)
+			sooner := at + chance(most+1)
+			asked := at
+			m := x.To(steps, func(done, next int) bool {
+				if here := course.At(done); done != asked || here.Next != next || here.Over {
+					t.Fatalf("asked of step %d behind %d steps, not of %d behind %d", next, done, here.Next, asked)
+				}
+				asked++
+				return done == sooner
+			})
+			if want := course.At(min(steps, sooner)); marsh.ShowMoment(m) != marsh.ShowMoment(want) || x.Done() != want.Done {
+				t.Fatalf("to %d steps, or %d: %s, not %s", steps, sooner, marsh.ShowMoment(m), marsh.ShowMoment(want))
 			}
-			asked = append(asked, next)
-			return done == sooner
-		})
-		want := course.At(min(steps, sooner))
-		if why != api.OK || marsh.ShowMoment(m) != marsh.ShowMoment(want) {
-			t.Fatalf("%s\nof %d steps, or %d: error %d, %s, not %s", rushes.Show(p), steps, sooner, why, marsh.ShowMoment(m), marsh.ShowMoment(want))
-		}
-		for done, next := range asked {
-			if at := course.At(done); at.Next != next || at.Over {
-				t.Fatalf("%s\nasked of step %d behind %d, not of %d", rushes.Show(p), next, done, at.Next)
+			if m = x.To(m.Done-1, nil); marsh.ShowMoment(m) != marsh.ShowMoment(api.Moment{}) {
+				t.Fatalf("back: %s", marsh.ShowMoment(m))
 			}
-		}
-		if m.Done < steps && !m.Over {
-			stood++
-		}
-		if m, why := spec.Until(p, o, w, -1, func(int, int) bool { return true }); why != api.ErrRange || marsh.ShowMoment(m) != marsh.ShowMoment(api.Moment{}) {
-			t.Fatal("less than no step: error", why)
+			if sooner < steps {
+				stood++
+			}
+			at = x.Done()
+			if chance(4) == 0 {
+				if m := x.To(most, nil); m.Over {
+					over++
+					if again := x.To(api.MaxNumber, nil); marsh.ShowMoment(again) != marsh.ShowMoment(m) {
+						t.Fatalf("behind the end: %s, not %s", marsh.ShowMoment(again), marsh.ShowMoment(m))
+					}
+				}
+				break
+			}
 		}
 	}
-	if stood < 200 {
-		t.Error("only a few stood sooner:", stood)
+	if stood < 200 || over < 200 {
+		t.Error("only a few:", stood, over)
+	}
+}
+
+// Walks of what may not be run, and beyond what is counted.
+func TestNoWalk(t *testing.T) {
+	p, w := rushes.Read(t, ":a;ba", false), marsh.Inputs("a\n")
+	x, why := spec.Begin(api.Program{Steps: []api.Step{{Command: api.Command{Name: 'k'}}}}, api.Options{}, w)
+	if x != nil || why != api.ErrProgram {
+		t.Error("a wrong program: error", why)
+	}
+	x, why = spec.Begin(p, api.Options{}, api.World{Inputs: []api.Text{{}}})
+	if x != nil || why != api.ErrWorld {
+		t.Error("a wrong world: error", why)
+	}
+	if m := x.To(0, nil); x.Done() != 0 || marsh.ShowMoment(m) != marsh.ShowMoment(api.Moment{}) {
+		t.Error("of no walk:", marsh.ShowMoment(m))
+	}
+	x, _ = spec.Begin(p, api.Options{}, w)
+	for _, steps := range []int{-1 << 63, -1, api.MaxNumber + 1, 1<<63 - 1} {
+		if m := x.To(steps, nil); x.Done() != 0 || marsh.ShowMoment(m) != marsh.ShowMoment(api.Moment{}) {
+			t.Error("to", steps, "steps:", marsh.ShowMoment(m))
+		}
+	}
+	if m := x.To(9, nil); m.Done != 9 || m.Over || m.Pattern != "a" {
+		t.Error("to 9 steps:", marsh.ShowMoment(m))
 	}
 }
 
