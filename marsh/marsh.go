@@ -1,4 +1,4 @@
-// Package marsh makes scripts and worlds that are run, and reads the words of what a run does a second time, for the tests of the other packages; the program itself does not call it.
+// Package marsh makes scripts, worlds and jobs that are run, and reads the words of what a run does a second time, for the tests of the other packages; the program itself does not call it.
 package marsh
 
 import (

@@ -5,6 +5,7 @@ import (
 	"testing"
 
 	"paddock/api"
+	"paddock/marsh"
 	"paddock/sandbox"
 	"paddock/wood"
 )
@@ -131,7 +132,7 @@ func TestEditFails(t *testing.T) {
 	}
 	o := sandbox.Run(job(len(said)))
 	if told(o) != `"" 0 0 0 ` || wood.Texts(o.Tree) != `/d/e="" /d/f="a\nb\n" /d/g="c\nd\n" /d/h="x!" /d/h~="x" /d/k="y!\n" /d/k~="y\n" /s="secret"` || len(o.Trace) != len(said) {
-		t.Error("without a fault:", show(o))
+		t.Error("without a fault:", marsh.ShowOutcome(o))
 	}
 	// q's code is not told, if the end fails.
 	j := inPlace(failing(small("q7", "d/f"), 6), "")

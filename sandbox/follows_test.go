@@ -2,6 +2,7 @@ package sandbox_test
 
 import (
 	"math/rand"
+	"regexp"
 	"slices"
 	"strings"
 	"testing"
@@ -49,16 +50,16 @@ func overLink(table map[string]wood.Thing, p api.Path, whole bool) bool {
 func isConfined(t *testing.T, j api.Job, o api.Outcome) {
 	t.Helper()
 	if ok, at := audit.Confined(o.Trace, j.Policy.Read, j.Policy.Write); !ok {
-		t.Fatalf("%s\n25.4: call %d of %s", showJob(j), at, calls(o))
+		t.Fatalf("%s\n25.4: call %d of %s", marsh.ShowJob(j), at, calls(o))
 	}
 	f, _ := vfs.New(j.Tree, j.Faults)
 	for i, c := range o.Trace {
 		table := wood.Table(f.Tree())
 		if !paths.Right(c.Path) || overLink(table, c.Path, c.Kind != api.CallLstat) || overLink(table, c.To, true) {
-			t.Fatalf("%s\n25.4: call %d, %s, leads over a link", showJob(j), i, call(c))
+			t.Fatalf("%s\n25.4: call %d, %s, leads over a link", marsh.ShowJob(j), i, marsh.ShowCall(c))
 		}
 		if why := again(f, c); why != c.Why {
-			t.Fatalf("%s\ncall %d, %s, answers %d", showJob(j), i, call(c), why)
+			t.Fatalf("%s\ncall %d, %s, answers %d", marsh.ShowJob(j), i, marsh.ShowCall(c), why)
 		}
 	}
 	if o.Why != api.OK {
@@ -72,7 +73,7 @@ func isConfined(t *testing.T, j api.Job, o api.Outcome) {
 				p = nil
 			}
 			if before[at] != after[at] && !paths.Inside(j.Policy.Write, p) {
-				t.Fatalf("%s\n25.4: %s has changed", showJob(j), at)
+				t.Fatalf("%s\n25.4: %s has changed", marsh.ShowJob(j), at)
 			}
 		}
 	}
@@ -83,15 +84,15 @@ func isLogged(t *testing.T, o api.Outcome) {
 	t.Helper()
 	denials := audit.Denials(o.Log)
 	trace := audit.Trace(o.Log)
-	same := slices.EqualFunc(trace, o.Trace, func(a, b api.Call) bool { return call(a) == call(b) && a.Kind == b.Kind })
+	same := slices.EqualFunc(trace, o.Trace, func(a, b api.Call) bool { return marsh.ShowCall(a) == marsh.ShowCall(b) && a.Kind == b.Kind })
 	if !same || len(denials) > 1 || len(denials) == 1 && o.Log[len(o.Log)-1].Deny == api.DenyNone {
-		t.Fatalf("25.5: %s", show(o))
+		t.Fatalf("25.5: %s", marsh.ShowOutcome(o))
 	}
 	if (len(denials) == 1) != (o.Stop == api.StopDenied || o.Stop == api.StopExec) {
-		t.Fatalf("25.5: a denial does not end a run, or none does: %s", show(o))
+		t.Fatalf("25.5: a denial does not end a run, or none does: %s", marsh.ShowOutcome(o))
 	}
 	if s, why := audit.Print(o.Log); why != api.OK || strings.Count(s, "\n") != len(o.Log) {
-		t.Fatalf("25.5: no log: %s", show(o))
+		t.Fatalf("25.5: no log: %s", marsh.ShowOutcome(o))
 	}
 }
 
@@ -104,12 +105,12 @@ func isBounded(t *testing.T, j api.Job, o api.Outcome) {
 		most += p.Each
 	}
 	if o.Cost > p.Fuel || o.Steps > o.Cost || o.Peak > p.Memory || len(o.Out) > most {
-		t.Fatalf("%s\n25.6: %s", showJob(j), show(o))
+		t.Fatalf("%s\n25.6: %s", marsh.ShowJob(j), marsh.ShowOutcome(o))
 	}
 	before := wood.Table(j.Tree)
 	for at, x := range wood.Table(o.Tree) {
 		if !j.Options.InPlace && x.Kind == api.FileText && before[at] != x && len(x.Data) > p.Each {
-			t.Fatalf("%s\n25.6: %s has %q", showJob(j), at, x.Data)
+			t.Fatalf("%s\n25.6: %s has %q", marsh.ShowJob(j), at, x.Data)
 		}
 	}
 }
@@ -119,14 +120,17 @@ const plenty = 500
 
 // free is the same job where the policy allows all, and enough, and no call fails.
 func free(j api.Job) api.Job {
-	j.Policy, j.Faults = within(wood.Paths("/"), wood.Paths("/"), plenty), nil
+	j.Policy, j.Faults = marsh.Within(wood.Paths("/"), wood.Paths("/"), plenty), nil
 	return j
 }
+
+// named are the files that grown scripts name.
+var named = regexp.MustCompile(`(?m)([rRwW]) (f|g|o|u|none)$`)
 
 // grownFree is a job by chance that the words of 25.7 speak of, and the world that it is in chapter 19; the names of both scripts are those of one another.
 func grownFree(chance func(int) int) (api.Job, string, api.World) {
 	s := marsh.Script(chance, 1+chance(8))
-	j := api.Job{Options: marsh.Options(chance), Input: marsh.Lines(chance), Tree: wood.Root(), Policy: within(wood.Paths("/"), wood.Paths("/"), plenty)}
+	j := api.Job{Options: marsh.Options(chance), Input: marsh.Lines(chance), Tree: wood.Root(), Policy: marsh.Within(wood.Paths("/"), wood.Paths("/"), plenty)}
 	if j.Options.InPlace {
 		j.Options.Suffix = []string{"", "~", "*.old"}[chance(3)]
 	}
@@ -220,14 +224,14 @@ func TestAsItIsMeant(t *testing.T) {
 		}
 		if stops[enough.Stop]++; enough.Stop > api.StopQuit {
 			if o.Stop != enough.Stop || o.Code != enough.Code || o.Steps != enough.Steps || o.Cost != enough.Cost || o.Peak != enough.Peak {
-				t.Fatalf("%s\n%s\nnot %s", showJob(j), show(o), marsh.Show(enough))
+				t.Fatalf("%s\n%s\nnot %s", marsh.ShowJob(j), marsh.ShowOutcome(o), marsh.Show(enough))
 			}
 			continue
 		}
 		m, _ := spec.Run(p, j.Options, w, plenty)
 		out, table, names := becomes(j, p, m.Effects)
 		if o.Out != out || o.Code != m.Code || o.Stop != m.Stop || o.Steps != m.Steps || o.Cost != m.Cost || o.Peak != m.Peak || o.Error != api.OK || o.Message != "" {
-			t.Fatalf("%s\n25.7: %s\nnot %q; %s", showJob(j), show(o), out, marsh.Show(m))
+			t.Fatalf("%s\n25.7: %s\nnot %q; %s", marsh.ShowJob(j), marsh.ShowOutcome(o), out, marsh.Show(m))
 		}
 		got := wood.Table(o.Tree)
 		for _, name := range j.Names {
@@ -238,7 +242,7 @@ func TestAsItIsMeant(t *testing.T) {
 			}
 		}
 		if !wood.SameTable(got, table) {
-			t.Fatalf("%s\n25.7: the tree is %v, not %v", showJob(j), got, table)
+			t.Fatalf("%s\n25.7: the tree is %v, not %v", marsh.ShowJob(j), got, table)
 		}
 		if len(names) > 0 && j.Options.Suffix != "" {
 			edited++
@@ -287,14 +291,14 @@ func TestFronts(t *testing.T) {
 	chance := rand.New(rand.NewSource(258)).Intn
 	fronts, kept, made := 0, 0, 0
 	for range 20000 {
-		j := grown(chance)
+		j := marsh.Job(chance)
 		p, why, _ := plainProgram(j)
 		o, all := sandbox.Run(j), sandbox.Run(free(j))
 		if why != api.OK || o.Why != api.OK || j.Options.InPlace && mixes(j, p) {
 			continue
 		}
 		if !isFront(j, o, all, p) {
-			t.Fatalf("%s\n25.8: %s\nof %s", showJob(j), show(o), show(all))
+			t.Fatalf("%s\n25.8: %s\nof %s", marsh.ShowJob(j), marsh.ShowOutcome(o), marsh.ShowOutcome(all))
 		}
 		if o.Stop != all.Stop && o.Out+wood.Texts(o.Tree) != all.Out+wood.Texts(all.Tree) {
 			fronts++
@@ -311,7 +315,7 @@ func TestFronts(t *testing.T) {
 			case will[at]:
 				made++
 			default:
-				t.Fatalf("%s\n25.9: %s has %v, not %v or %v", showJob(j), at, is[at], was[at], will[at])
+				t.Fatalf("%s\n25.9: %s has %v, not %v or %v", marsh.ShowJob(j), at, is[at], was[at], will[at])
 			}
 		}
 	}
@@ -333,12 +337,12 @@ func TestEveryEnd(t *testing.T) {
 		was, will := wood.Table(j.Tree), wood.Table(all.Tree)
 		ends := func(o api.Outcome, stop api.StopKind, code int) {
 			if o.Stop != stop || o.Code != code || !isFront(j, o, all, p) {
-				t.Fatalf("%s\n25.8: %s\nof %s", showJob(j), show(o), show(all))
+				t.Fatalf("%s\n25.8: %s\nof %s", marsh.ShowJob(j), marsh.ShowOutcome(o), marsh.ShowOutcome(all))
 			}
 			is := wood.Table(o.Tree)
 			for _, name := range j.Names {
 				if at, _ := own(name); is[at] != was[at] && is[at] != will[at] {
-					t.Fatalf("%s\n25.9: %s has %v, not %v or %v", showJob(j), at, is[at], was[at], will[at])
+					t.Fatalf("%s\n25.9: %s has %v, not %v or %v", marsh.ShowJob(j), at, is[at], was[at], will[at])
 				}
 			}
 		}
@@ -348,7 +352,7 @@ func TestEveryEnd(t *testing.T) {
 			o := sandbox.Run(little)
 			ends(o, api.StopFault, 5)
 			if len(o.Trace) != k+1 || o.Trace[k].Why != api.ErrFault || o.Message != "failed "+[]string{"", "lstat", "read", "create", "append", "rename"}[o.Trace[k].Kind]+` "`+wood.Own(o.Trace[k].Path)+`" code 42` {
-				t.Fatalf("%s\nfault %d: %s", showJob(j), k, show(o))
+				t.Fatalf("%s\nfault %d: %s", marsh.ShowJob(j), k, marsh.ShowOutcome(o))
 			}
 		}
 		for fuel := range min(all.Cost, 60) {
@@ -370,7 +374,7 @@ func TestFlaws(t *testing.T) {
 			j.Policy.Fuel = 0
 			o := sandbox.Run(j)
 			if o.Why != api.ErrScript || o.Message != message || o.Code != 1 || !sandbox.Same(o, api.Outcome{Why: o.Why, Flaw: o.Flaw, Code: 1, Message: message}) {
-				t.Errorf("%q: %s", s, show(o))
+				t.Errorf("%q: %s", s, marsh.ShowOutcome(o))
 			}
 		}
 	}

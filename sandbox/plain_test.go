@@ -3,7 +3,6 @@ package sandbox_test
 import (
 	"math/rand"
 	"path"
-	"regexp"
 	"slices"
 	"strconv"
 	"strings"
@@ -277,84 +276,16 @@ func plainMessage(o api.Outcome) string {
 	return ""
 }
 
-// named are the files that grown scripts name.
-var named = regexp.MustCompile(`(?m)([rRwW]) (f|g|o|u|none)$`)
-
-// spelled spells the names of files in a script in other ways, or puts other ones in their places.
-func spelled(chance func(int) int, s string, others []string) string {
-	return named.ReplaceAllStringFunc(s, func(x string) string {
-		letter, name := x[:2], x[2:]
-		if chance(8) == 0 {
-			return letter + others[chance(len(others))]
-		}
-		return letter + []string{name, "./" + name, "/" + name, "d/../" + name, "d/" + name, "../d/" + name, "d//../././" + name}[chance(7)]
-	})
-}
-
-// grown is a job by chance: a tree with links, prefixes, quotas, calls that fail.
-func grown(chance func(int) int) api.Job {
-	some := func(l ...api.File) []api.File {
-		return slices.DeleteFunc(l, func(api.File) bool { return chance(5) == 0 })
-	}
-	text := func(name string) api.File { return wood.Text(name, marsh.Lines(chance)) }
-	d := wood.Dir("d", some(text("f"), text("g"), wood.Link("l", "f"), wood.Link("m", "/s"), text("o"), text("u"))...)
-	dev := wood.Dir("dev", some(text("stdout"))...)
-	j := api.Job{
-		Script:  spelled(chance, marsh.Script(chance, 1+chance(6)), []string{"l", "d/l", "d/m", "s", "d", "d/", "..", "d/none/x", "in0/x", "in0", "in1.paddock~"}),
-		Options: marsh.Options(chance),
-		Input:   marsh.Lines(chance),
-		Tree:    wood.Root(append([]api.File{d, dev}, some(text("f"), text("g"), text("in0"), text("in1"), text("in2"), wood.Link("l", "d"), text("o"), text("s"), text("u"))...)...),
-		Policy:  within(wood.Paths("/"), wood.Paths("/"), 500),
-	}
-	j.Options.Suffix = []string{"", "", "~", "*.old", "*", "a/b"}[chance(6)]
-	usual := []string{"in0", "in1", "in2", "d/f", "-", "./in0", "d/../in1"}
-	others := []string{"none", "s", "d/l", "l/f", "d", "", "in0/", "in0/x", "none/x", "in0.paddock~", "o"}
-	for range chance(4) {
-		name := usual[chance(len(usual))]
-		if chance(8) == 0 {
-			name = others[chance(len(others))]
-		}
-		j.Names = append(j.Names, name)
-	}
-	prefixes := [][]api.Path{nil, wood.Paths("d"), wood.Paths("d", "in0", "in1", "in2"), wood.Paths("d", "f", "g", "o", "u", "in0", "in1"), wood.Paths("in0", "in0.paddock~", "d f"), wood.Paths("l f")}
-	if chance(3) == 0 {
-		j.Policy.Read = prefixes[chance(len(prefixes))]
-	}
-	if chance(3) == 0 {
-		j.Policy.Write = prefixes[chance(len(prefixes))]
-	}
-	for _, n := range []*int{&j.Policy.Fuel, &j.Policy.Memory, &j.Policy.Output, &j.Policy.Each} {
-		if chance(6) == 0 {
-			*n = chance(40)
-		}
-	}
-	if chance(3) == 0 {
-		j.Faults = []int{chance(30), chance(60)}
-	}
-	if at := chance(len(j.Script) + 1); chance(20) == 0 {
-		j.Script = j.Script[:at] + []string{"", "k", "}", "\n{", "!", "\\"}[chance(6)] + j.Script[at:]
-	}
-	return j
-}
-
-// showJob tells what matters of a job.
-func showJob(j api.Job) string {
-	o := j.Options
-	p := j.Policy
-	return strings.Join([]string{strconv.Quote(j.Script), "quiet", strconv.FormatBool(o.Quiet), "extended", strconv.FormatBool(o.Extended), "separate", strconv.FormatBool(o.Separate), "in place", strconv.FormatBool(o.InPlace), o.Suffix,
-		"names", strings.Join(j.Names, ","), "quotas", strconv.Itoa(p.Fuel), strconv.Itoa(p.Memory), strconv.Itoa(p.Output), strconv.Itoa(p.Each), "tree", tree(j.Tree)}, " ")
-}
-
 // 25.1: grown jobs, against the second reading; and all that follows of each outcome by itself.
 func TestGrown(t *testing.T) {
 	chance := rand.New(rand.NewSource(2501)).Intn
 	stops, denied, failed, wrong := map[api.StopKind]int{}, map[string]int{}, map[string]int{}, map[api.Errno]int{}
 	for range 30000 {
-		j := grown(chance)
+		j := marsh.Job(chance)
 		o := sandbox.Run(j)
 		want := plainRun(j)
-		if !sandbox.Same(o, want) || show(o) != show(want) {
-			t.Fatalf("%s\n%s\nnot %s", showJob(j), show(o), show(want))
+		if !sandbox.Same(o, want) || marsh.ShowOutcome(o) != marsh.ShowOutcome(want) {
+			t.Fatalf("%s\n%s\nnot %s", marsh.ShowJob(j), marsh.ShowOutcome(o), marsh.ShowOutcome(want))
 		}
 		isConfined(t, j, o)
 		isLogged(t, o)

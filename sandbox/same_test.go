@@ -5,6 +5,7 @@ import (
 	"testing"
 
 	"paddock/api"
+	"paddock/marsh"
 	"paddock/sandbox"
 	"paddock/wood"
 )
@@ -114,16 +115,16 @@ func TestSameEmpty(t *testing.T) {
 // P1: hand-made jobs of any kind end.
 func TestHandMade(t *testing.T) {
 	if o := sandbox.Run(api.Job{}); !sandbox.Same(o, api.Outcome{Why: api.ErrTree, Code: 1, Message: "job code 30"}) {
-		t.Error("an empty job:", show(o))
+		t.Error("an empty job:", marsh.ShowOutcome(o))
 	}
 	if o := sandbox.Run(api.Job{Tree: wood.Root()}); !sandbox.Same(o, api.Outcome{Tree: wood.Root()}) {
-		t.Error("a job without a quota, and without input:", show(o))
+		t.Error("a job without a quota, and without input:", marsh.ShowOutcome(o))
 	}
 	if o := sandbox.Run(api.Job{Tree: wood.Root(), Input: "\n"}); !sandbox.Same(o, api.Outcome{Tree: wood.Root(), Code: 4, Stop: api.StopOutput, Message: "exhausted output"}) {
-		t.Error("a job without a quota:", show(o))
+		t.Error("a job without a quota:", marsh.ShowOutcome(o))
 	}
 	if o := sandbox.Run(api.Job{Tree: wood.Root(), Input: "a"}); !sandbox.Same(o, api.Outcome{Tree: wood.Root(), Code: 4, Stop: api.StopMemory, Message: "exhausted memory"}) {
-		t.Error("a job without a quota:", show(o))
+		t.Error("a job without a quota:", marsh.ShowOutcome(o))
 	}
 	deep := wood.Text("x", "")
 	for range 1 << 12 {

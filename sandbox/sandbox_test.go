@@ -8,21 +8,17 @@ import (
 	"testing"
 
 	"paddock/api"
+	"paddock/marsh"
 	"paddock/sandbox"
 	"paddock/wood"
 )
-
-// within is a policy with quotas of so much each.
-func within(read, write []api.Path, most int) api.Policy {
-	return api.Policy{Read: read, Write: write, Fuel: most, Memory: most, Output: most, Each: most}
-}
 
 // small is a job as the chapter's examples have it: a folder d with the text f, and a text s; below d all may be done.
 func small(s string, names ...string) api.Job {
 	return api.Job{
 		Script: s, Names: names,
 		Tree:   wood.Root(wood.Dir("d", wood.Text("f", "a\nb\n")), wood.Text("s", "secret")),
-		Policy: within(wood.Paths("d"), wood.Paths("d"), 1000),
+		Policy: marsh.Within(wood.Paths("d"), wood.Paths("d"), 1000),
 	}
 }
 
@@ -38,57 +34,15 @@ func failing(j api.Job, faults ...int) api.Job {
 	return j
 }
 
-// call tells a call in a word.
-func call(c api.Call) string {
-	names := [api.CallCount]string{"none", "lstat", "read", "create", "append", "rename", "exec"}
-	word := names[c.Kind] + wood.Own(c.Path)
-	if len(c.To) > 0 {
-		word += ">" + wood.Own(c.To)
-	}
-	if c.Why != api.OK {
-		word += "=" + strconv.Itoa(int(c.Why))
-	}
-	return word
-}
-
 // calls are the calls of a trace, but Lstats.
 func calls(o api.Outcome) string {
 	var words []string
 	for _, c := range o.Trace {
 		if c.Kind != api.CallLstat {
-			words = append(words, call(c))
+			words = append(words, marsh.ShowCall(c))
 		}
 	}
 	return strings.Join(words, " ")
-}
-
-// show tells all of an outcome; nil and empty lists are alike.
-func show(o api.Outcome) string {
-	var out strings.Builder
-	for _, n := range []int{int(o.Why), o.Flaw.At, o.Flaw.Rule, o.Code, int(o.Stop), int(o.Error), o.Steps, o.Cost, o.Peak} {
-		out.WriteString(strconv.Itoa(n) + " ")
-	}
-	out.WriteString(strconv.Quote(o.Out) + " " + strconv.Quote(o.Message) + "\nlog")
-	for _, e := range o.Log {
-		out.WriteString(" " + call(e.Call))
-		if e.Deny != api.DenyNone {
-			out.WriteString("!" + strconv.Itoa(int(e.Deny)) + strconv.Quote(e.Text))
-		}
-	}
-	out.WriteString("\ntrace")
-	for _, c := range o.Trace {
-		out.WriteString(" " + call(c))
-	}
-	out.WriteString("\ntree " + tree(o.Tree))
-	return out.String()
-}
-
-func tree(f api.File) string {
-	words := []string{strconv.Itoa(int(f.Kind)), strconv.Quote(f.Name), strconv.Quote(f.Data)}
-	for _, g := range f.Files {
-		words = append(words, tree(g))
-	}
-	return "(" + strings.Join(words, " ") + ")"
 }
 
 // told is what matters of most outcomes.
@@ -115,7 +69,7 @@ func wants(t *testing.T, j api.Job, want, trace, changed string) {
 // The chapter's examples.
 func TestExamples(t *testing.T) {
 	o := sandbox.Run(small("s/a/x/", "d/f"))
-	if got := show(o); got != "0 0 0 0 0 0 2 6 1 \"x\\nb\\n\" \"\"\nlog lstat/d/f read/d/f\ntrace lstat/d/f read/d/f\ntree "+tree(small("").Tree) {
+	if got := marsh.ShowOutcome(o); got != "0 0 0 0 0 0 2 6 1 \"x\\nb\\n\" \"\"\nlog lstat/d/f read/d/f\ntrace lstat/d/f read/d/f\ntree "+wood.Show(small("").Tree) {
 		t.Error("1:", got)
 	}
 	wants(t, inPlace(small("s/a/x/", "d/f"), ""), `"" 0 0 0 `, "read/d/f create/d/f.paddock~ append/d/f.paddock~ append/d/f.paddock~ rename/d/f.paddock~>/d/f", `/d/f="x\nb\n"`)
@@ -126,7 +80,7 @@ func TestExamples(t *testing.T) {
 	little.Policy.Fuel = 5
 	wants(t, little, `"" 4 4 0 exhausted fuel`, "read/d/f", "")
 	o = sandbox.Run(small("k"))
-	if got := show(o); got != "130 0 1 1 0 0 0 0 0 \"\" \"script byte 0 rule 1\"\nlog\ntrace\ntree (0 \"\" \"\")" {
+	if got := marsh.ShowOutcome(o); got != "130 0 1 1 0 0 0 0 0 \"\" \"script byte 0 rule 1\"\nlog\ntrace\ntree (0 \"\" \"\")" {
 		t.Error("3:", got)
 	}
 	wants(t, small("p", "d/z"), `"" 2 0 0 `, "read/d/z=31", "")
@@ -139,8 +93,8 @@ func TestWholeExamples(t *testing.T) {
 	wants(t, small("r ../s", "d/f"), `"a\n" 3 8 61 denied read "/s" prefix`, read, "")
 	linked := small("p", "d/l")
 	linked.Tree = wood.Root(wood.Dir("d", wood.Text("f", "a\nb\n"), wood.Link("l", "/s")), wood.Text("s", "secret"))
-	if o := sandbox.Run(linked); told(o) != `"" 3 8 61 denied read "/d/l" link` || len(o.Trace) != 1 || call(o.Trace[0]) != "lstat/d/l" {
-		t.Error("3:", show(o))
+	if o := sandbox.Run(linked); told(o) != `"" 3 8 61 denied read "/d/l" link` || len(o.Trace) != 1 || marsh.ShowCall(o.Trace[0]) != "lstat/d/l" {
+		t.Error("3:", marsh.ShowOutcome(o))
 	}
 	wants(t, small("w d/o\ne ls", "d/f"), `"" 3 2 61 denied exec "ls" command`, "create/d/o read/d/f append/d/o", `/d/o="a\n"`)
 	little := small(":a;G;h;ba", "d/f")
@@ -181,7 +135,7 @@ func TestWrongJobs(t *testing.T) {
 			want.Flaw, want.Why = api.Flaw{At: 4, Rule: 6}, api.ErrScript
 		}
 		if !sandbox.Same(o, want) || o.Why == api.OK || first != "script byte 4 rule 6" && first != "job code "+strconv.Itoa(int(o.Why)) {
-			t.Errorf("%b: %s, not %s", number, show(o), first)
+			t.Errorf("%b: %s, not %s", number, marsh.ShowOutcome(o), first)
 		}
 	}
 }
@@ -345,10 +299,10 @@ func TestMemory(t *testing.T) {
 		j.Policy.Read, j.Policy.Write = wood.Roomy(j.Policy.Read), wood.Roomy(j.Policy.Write)
 		j.Names = append(j.Names, "mark")[:3]
 		j.Faults = append([]int{40, 99}, 0)[:2]
-		was := tree(j.Tree)
+		was := wood.Show(j.Tree)
 		o := sandbox.Run(j)
-		want := show(o)
-		if tree(j.Tree) != was || !wood.Untouched(j.Policy.Read, wood.Paths("d")) || !wood.Untouched(j.Policy.Write, wood.Paths("d")) ||
+		want := marsh.ShowOutcome(o)
+		if wood.Show(j.Tree) != was || !wood.Untouched(j.Policy.Read, wood.Paths("d")) || !wood.Untouched(j.Policy.Write, wood.Paths("d")) ||
 			!slices.Equal(j.Names[:4], []string{"d/f", "d/f", "-", "mark"}) || !slices.Equal(j.Faults[:3], []int{40, 99, 0}) {
 			t.Error("what was handed in has changed")
 		}
@@ -357,30 +311,15 @@ func TestMemory(t *testing.T) {
 		wood.BlotAll(j.Policy.Read)
 		wood.BlotAll(j.Policy.Write)
 		clear(j.Names[:4])
-		if show(o) != want || !sandbox.Same(o, again) {
-			t.Error("an outcome hangs on what was handed in:", show(o))
+		if marsh.ShowOutcome(o) != want || !sandbox.Same(o, again) {
+			t.Error("an outcome hangs on what was handed in:", marsh.ShowOutcome(o))
 		}
-		blot(o)
-		if show(again) != want {
-			t.Error("two outcomes share memory:", show(again))
+		marsh.BlotOutcome(o)
+		if marsh.ShowOutcome(again) != want {
+			t.Error("two outcomes share memory:", marsh.ShowOutcome(again))
 		}
 		apart(t, again)
 	}
-}
-
-// blot writes over all memory that an outcome has.
-func blot(o api.Outcome) {
-	for _, e := range o.Log[:cap(o.Log)] {
-		wood.Blot(e.Call.Path)
-		wood.Blot(e.Call.To)
-	}
-	for _, c := range o.Trace[:cap(o.Trace)] {
-		wood.Blot(c.Path)
-		wood.Blot(c.To)
-	}
-	clear(o.Log[:cap(o.Log)])
-	clear(o.Trace[:cap(o.Trace)])
-	wood.Spoil(o.Tree)
 }
 
 // apart holds that no two lists of an outcome share memory: each is written over, and all others stay.

@@ -82,6 +82,15 @@ func Texts(t api.File) string {
 	return strings.Join(out, " ")
 }
 
+// Show tells all of a file, and of all in it.
+func Show(f api.File) string {
+	words := []string{strconv.Itoa(int(f.Kind)), strconv.Quote(f.Name), strconv.Quote(f.Data)}
+	for _, g := range f.Files {
+		words = append(words, Show(g))
+	}
+	return "(" + strings.Join(words, " ") + ")"
+}
+
 // SameTable tells whether two tables have the same.
 func SameTable(a, b map[string]Thing) bool { return maps.Equal(a, b) }
 
