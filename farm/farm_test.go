@@ -160,22 +160,40 @@ func TestAnySchedule(t *testing.T) {
 // long is a task that takes a while.
 func long(name string) api.Task {
 	x := small(name, ":a;ba")
-	x.Job.Policy.Fuel = 5000000
+	x.Job.Policy.Fuel = 20000000
 	return x
+}
+
+// begun is how many goroutines there are that a farm has begun; by their stacks, since other ones come and go.
+func begun() int {
+	stacks := make([]byte, 1<<20)
+	return strings.Count(string(stacks[:runtime.Stack(stacks, true)]), "created by paddock/farm.")
+}
+
+// noneLeft waits till none is: a goroutine that has done all that it does may take a moment till it is no longer counted.
+func noneLeft(t *testing.T) {
+	t.Helper()
+	for range 5000 {
+		if begun() == 0 {
+			return
+		}
+		time.Sleep(time.Millisecond)
+	}
+	t.Fatal("goroutines are left:", begun())
 }
 
 // 29.1: workers run at the same time, so many and no more; when the call has answered, none is left.
 func TestWorkers(t *testing.T) {
 	for _, workers := range []int{1, 3, 8} {
-		before := runtime.NumGoroutine()
+		noneLeft(t)
 		var l []api.Task
 		for i := range 8 {
 			l = append(l, long("t"+strconv.Itoa(i)))
 		}
 		done := make(chan struct{})
 		go func() {
-			runs(t, l, workers)
-			close(done)
+			defer close(done)
+			farm.Run(l, workers)
 		}()
 		most := 0
 		for over := false; !over; {
@@ -183,22 +201,13 @@ func TestWorkers(t *testing.T) {
 			case <-done:
 				over = true
 			case <-time.After(time.Millisecond):
-				most = max(most, runtime.NumGoroutine())
+				most = max(most, begun())
 			}
 		}
-		if most != before+1+workers {
-			t.Errorf("%d workers: %d goroutines at most, beside %d", workers, most, before+1)
+		if most != workers {
+			t.Errorf("%d workers: %d goroutines at most", workers, most)
 		}
-		// A goroutine that has done all that it does may take a moment till it is no longer counted.
-		for range 1000 {
-			if runtime.NumGoroutine() <= before {
-				break
-			}
-			time.Sleep(time.Millisecond)
-		}
-		if left := runtime.NumGoroutine() - before; left > 0 {
-			t.Errorf("%d workers: %d goroutines are left", workers, left)
-		}
+		noneLeft(t)
 	}
 }
 

@@ -6,6 +6,7 @@ import (
 	"strconv"
 	"strings"
 	"testing"
+	"time"
 
 	"paddock/api"
 	"paddock/debug"
@@ -456,10 +457,11 @@ func TestMemory(t *testing.T) {
 			t.Error("what was handed in has changed:", command)
 		}
 	}
+	// A goroutine that has done all that it does may take a moment till it is no longer counted.
 	for tries := 0; runtime.NumGoroutine() > before; tries++ {
-		if tries == 1000 {
+		if tries == 5000 {
 			t.Fatal("goroutines are left:", runtime.NumGoroutine()-before)
 		}
-		runtime.Gosched()
+		time.Sleep(time.Millisecond)
 	}
 }

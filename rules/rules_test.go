@@ -68,6 +68,7 @@ var calls = map[string]string{
 	"twigs":   "syntax",                                // no layer: it makes trees of expressions for tests
 	"reeds":   "script twigs",                          // no layer: it makes scripts for tests
 	"rushes":  "program reeds twigs",                   // no layer: it makes programs for tests
+	"marsh":   "lines match posix subst wood",          // no layer: it makes worlds and jobs, and reads runs, for tests
 }
 
 // source is a file of the program, read.
